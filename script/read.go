@@ -1,0 +1,139 @@
+package script
+
+import (
+	"strings"
+
+	"statute/api"
+)
+
+// Read a law.
+func Read(text string) (api.Item, error) {
+	if len(text) > api.MaxText {
+		return api.Item{}, &api.Fault{At: 0, Err: api.ErrBound}
+	}
+	var r reader
+	rows := strings.Split(text, lineEnd)
+	for at, row := range rows {
+		if strings.Trim(row, " ") == "" {
+			continue
+		}
+		if err := r.take(row); err != nil {
+			return api.Item{}, &api.Fault{At: at, Err: err}
+		}
+	}
+	if len(r.open) == 0 {
+		return api.Item{}, &api.Fault{At: len(rows) - 1, Err: api.ErrText}
+	}
+	r.shut(0)
+	return r.open[0], nil
+}
+
+// reader is a law, as far as it was read.
+type reader struct {
+	open  []api.Item // the law, and the provisions that are open, each within the one ahead of it
+	count int        // provisions so far
+}
+
+// take reads one line of a form.
+func (r *reader) take(row string) error {
+	if !isPlain(row) {
+		return api.ErrText
+	}
+	if len(r.open) == 0 {
+		return r.law(row)
+	}
+	body := strings.TrimLeft(row, " ")
+	blanks := len(row) - len(body)
+	around := blanks / len(indent)
+	if blanks%len(indent) != 0 || around > r.innermost() {
+		return api.ErrText
+	}
+	if rest, marked := strings.CutPrefix(body, lineMark); marked {
+		return r.line(around, rest)
+	}
+	return r.provision(around, body)
+}
+
+// innermost is the number of the item that was opened last; so many provisions are open.
+func (r *reader) innermost() int { return len(r.open) - 1 }
+
+// law reads the line with which a form begins.
+func (r *reader) law(row string) error {
+	rest, ok := strings.CutPrefix(row, lawWord)
+	if !ok || !isApart(rest) {
+		return api.ErrText
+	}
+	title, err := readText(rest)
+	if err != nil {
+		return err
+	}
+	r.open = append(r.open, api.Item{Head: title})
+	return nil
+}
+
+// line reads what stands behind the mark of a line.
+func (r *reader) line(around int, rest string) error {
+	// An item with kids is no longer the innermost one: so this bars a line behind them, too.
+	if around != r.innermost() || !isApart(rest) {
+		return api.ErrText
+	}
+	it := &r.open[around]
+	if len(it.Lines) == api.MaxLines {
+		return api.ErrBound
+	}
+	text, err := readText(rest)
+	if err != nil {
+		return err
+	}
+	it.Lines = append(it.Lines, text)
+	return nil
+}
+
+// provision reads the first line of a provision, which ends those that are open but don't lie around it.
+func (r *reader) provision(around int, body string) error {
+	label, _, _ := strings.Cut(body, textMark)
+	r.shut(around)
+	if !isLabel(label) || labelled(r.open[around].Kids, label) >= 0 {
+		return api.ErrName
+	}
+	if around >= api.MaxDeep || r.count >= api.MaxItems {
+		return api.ErrBound
+	}
+	head, err := readText(body[len(label):])
+	if err != nil {
+		return err
+	}
+	r.count++
+	r.open = append(r.open, api.Item{Label: label, Head: head})
+	return nil
+}
+
+// shut puts all open items behind one into those in which they lie.
+func (r *reader) shut(around int) {
+	for r.innermost() > around {
+		last := r.innermost()
+		outer := &r.open[last-1]
+		outer.Kids = append(outer.Kids, r.open[last])
+		r.open = r.open[:last]
+	}
+}
+
+// isApart tells whether nothing or a blank follows what a line of a form begins with.
+func isApart(rest string) bool {
+	return rest == "" || strings.HasPrefix(rest, textMark)
+}
+
+// readText is the text behind what a line of a form begins with, which isApart.
+func readText(rest string) (string, error) {
+	if rest == "" {
+		return "", nil
+	}
+	text := rest[len(textMark):]
+	if isTooLong(text) {
+		return "", api.ErrBound
+	}
+	if text == "" || !isLine(text) {
+		return "", api.ErrText
+	}
+	return text, nil
+}
