@@ -12,7 +12,7 @@ func Read(text string) (api.Item, error) {
 		return api.Item{}, &api.Fault{At: 0, Err: api.ErrBound}
 	}
 	var r reader
-	rows := strings.Split(text, lineEnd)
+	rows := rowsOf(text)
 	for at, row := range rows {
 		if strings.Trim(row, " ") == "" {
 			continue
@@ -22,10 +22,19 @@ func Read(text string) (api.Item, error) {
 		}
 	}
 	if len(r.open) == 0 {
-		return api.Item{}, &api.Fault{At: len(rows) - 1, Err: api.ErrText}
+		// None of the lines is the wrong one: the law is missing behind them.
+		return api.Item{}, &api.Fault{At: len(rows), Err: api.ErrText}
 	}
 	r.shut(0)
 	return r.open[0], nil
+}
+
+// rowsOf are the lines of a text; behind the end of the last one there is none, so it may be left out.
+func rowsOf(text string) []string {
+	if text == "" {
+		return nil
+	}
+	return strings.Split(strings.TrimSuffix(text, lineEnd), lineEnd)
 }
 
 // reader is a law, as far as it was read.
@@ -60,7 +69,8 @@ func (r *reader) innermost() int { return len(r.open) - 1 }
 // law reads the line with which a form begins.
 func (r *reader) law(row string) error {
 	rest, ok := strings.CutPrefix(row, lawWord)
-	if !ok || !isApart(rest) {
+	// Another word that begins like this one is no law, however long the line is.
+	if !ok || rest != "" && !strings.HasPrefix(rest, textMark) {
 		return api.ErrText
 	}
 	title, err := readText(rest)
@@ -74,7 +84,7 @@ func (r *reader) law(row string) error {
 // line reads what stands behind the mark of a line.
 func (r *reader) line(around int, rest string) error {
 	// An item with kids is no longer the innermost one: so this bars a line behind them, too.
-	if around != r.innermost() || !isApart(rest) {
+	if around != r.innermost() {
 		return api.ErrText
 	}
 	it := &r.open[around]
@@ -118,21 +128,16 @@ func (r *reader) shut(around int) {
 	}
 }
 
-// isApart tells whether nothing or a blank follows what a line of a form begins with.
-func isApart(rest string) bool {
-	return rest == "" || strings.HasPrefix(rest, textMark)
-}
-
-// readText is the text behind what a line of a form begins with, which isApart.
+// readText is the text behind what a line of a form begins with: none, or a blank and it.
 func readText(rest string) (string, error) {
 	if rest == "" {
 		return "", nil
 	}
-	text := rest[len(textMark):]
+	text, apart := strings.CutPrefix(rest, textMark)
 	if isTooLong(text) {
 		return "", api.ErrBound
 	}
-	if text == "" || !isLine(text) {
+	if !apart || text == "" || !isLine(text) {
 		return "", api.ErrText
 	}
 	return text, nil

@@ -57,6 +57,15 @@ func TestP33NoLaw(t *testing.T) {
 	checkFault(t, "", 0, api.ErrText)
 	checkFault(t, "\n", 1, api.ErrText)
 	checkFault(t, "\n\n  \n", 3, api.ErrText)
+	for _, row := range []string{" ", "  ", "     "} {
+		for ahead := range 4 {
+			// The last line's end may be left out: the place is the same with it.
+			text := strings.Repeat("\n", ahead) + row
+			checkFault(t, text, ahead+1, api.ErrText)
+			checkFault(t, text+"\n", ahead+1, api.ErrText)
+		}
+	}
+	checkFault(t, strings.Repeat("\n", api.MaxText), api.MaxText, api.ErrText)
 	for _, text := range []string{"1", "| a", "la", "laws", "lawx", "lAW", "LAW", "law\t", "law|", " law", "  law", "law ", "law  ", "law  a", "law a ", "x law"} {
 		checkFault(t, text, 0, api.ErrText)
 		checkFault(t, "\n"+text+"\n1 First\n", 1, api.ErrText)
@@ -84,7 +93,7 @@ func TestP33HowDeep(t *testing.T) {
 	for _, row := range []string{
 		" 2", "   b", "     ii", "       A", "        A", "          A", " ?", "   ?", "        ?",
 		"| x", "  | x", "    | x", "        | x", " | x", "     | x", "       | x", "|", "  |",
-		" " + long(), "        1 " + long(), "| " + long(), "|x", "      |x", "      |" + long(), "      ||",
+		" " + long(), "        1 " + long(), "| " + long(), "|x", "|" + long(), "      |x", "      ||",
 	} {
 		checkFault(t, open+row, 4, api.ErrText)
 	}
@@ -155,7 +164,10 @@ func TestP33LinesTooManyOrTooLong(t *testing.T) {
 	checkRead(t, "law\n"+rows+"1\n", api.Item{Lines: make([]string, api.MaxLines), Kids: kids("1")})
 	checkFault(t, "law\n"+rows+"|", api.MaxLines+1, api.ErrBound)
 	checkFault(t, "law\n"+rows+"|  a ", api.MaxLines+1, api.ErrBound)
-	checkFault(t, "law\n"+rows+"|a", api.MaxLines+1, api.ErrText)
+	checkFault(t, "law\n"+rows+"|a", api.MaxLines+1, api.ErrBound)
+	checkFault(t, "law\n"+rows+"||", api.MaxLines+1, api.ErrBound)
+	checkFault(t, "law\n"+rows+"  |a", api.MaxLines+1, api.ErrText)
+	checkFault(t, "law\n"+rows+"1\n|a", api.MaxLines+2, api.ErrText)
 	inner := strings.ReplaceAll(rows, "|", "  | x")
 	checkFault(t, "law\n"+rows+"1\n"+inner+"  | y\n", 2*api.MaxLines+2, api.ErrBound)
 	full := strings.Repeat("x", api.MaxLine)
@@ -167,6 +179,10 @@ func TestP33LinesTooManyOrTooLong(t *testing.T) {
 		checkFault(t, "law\n"+row+full[1:]+" ", 1, api.ErrText)
 		checkFault(t, "law\n"+row+" "+full[1:], 1, api.ErrText)
 	}
+	checkFault(t, "law\n|"+long(), 1, api.ErrBound)
+	checkFault(t, "law\n|"+full, 1, api.ErrText)
+	checkFault(t, "law\n1\n  |"+long(), 2, api.ErrBound)
+	checkFault(t, "law\n1\n  |"+full, 2, api.ErrText)
 	checkFault(t, "law "+long(), 0, api.ErrBound)
 	checkFault(t, "law  "+full, 0, api.ErrBound)
 	checkFault(t, "law "+full+" ", 0, api.ErrBound)
