@@ -54,8 +54,8 @@ func readLabel(text string) (label, bool) {
 	return x, strings.TrimFunc(stem, isSmall) == ""
 }
 
-// isLabel tells whether a text is a label.
-func isLabel(text string) bool {
+// IsLabel tells whether a text is a label.
+func IsLabel(text string) bool {
 	_, ok := readLabel(text)
 	return ok
 }
@@ -64,8 +64,8 @@ func isDigit(r rune) bool   { return '0' <= r && r <= '9' }
 func isSmall(r rune) bool   { return 'a' <= r && r <= 'z' }
 func isCapital(r rune) bool { return 'A' <= r && r <= 'Z' }
 
-// isLine tells whether a text is a line, a heading, a title.
-func isLine(text string) bool {
+// IsLine tells whether a text is a line, a heading, a title.
+func IsLine(text string) bool {
 	return len(text) <= api.MaxLine && isPlain(text) && strings.Trim(text, " ") == text
 }
 

@@ -29,6 +29,21 @@ func Read(text string) (api.Item, error) {
 	return r.open[0], nil
 }
 
+// ReadItem reads one provision with all that lies in it, of lines such as stand in the form of a law that has it alone, behind the law's own one. A line of blanks alone is a provision there, whose label is none. What is wrong is told as by Read; the place of what is missing is behind all lines.
+func ReadItem(rows []string) (api.Item, error) {
+	r := reader{open: make([]api.Item, 1)}
+	for at, row := range rows {
+		if err := r.takeAlone(row); err != nil {
+			return api.Item{}, &api.Fault{At: at, Err: err}
+		}
+	}
+	if r.count == 0 {
+		return api.Item{}, &api.Fault{At: len(rows), Err: api.ErrText}
+	}
+	r.shut(0)
+	return r.open[0].Kids[0], nil
+}
+
 // rowsOf are the lines of a text; behind the end of the last one there is none, so it may be left out.
 func rowsOf(text string) []string {
 	if text == "" {
@@ -61,6 +76,21 @@ func (r *reader) take(row string) error {
 		return r.line(around, rest)
 	}
 	return r.provision(around, body)
+}
+
+// takeAlone reads one line of a law that has one provision and nothing else.
+func (r *reader) takeAlone(row string) error {
+	if r.count == 0 && strings.HasPrefix(row, lineMark) {
+		return api.ErrText
+	}
+	if err := r.take(row); err != nil {
+		return err
+	}
+	// The first provision is shut only by another one beside it.
+	if len(r.open[0].Kids) > 0 {
+		return api.ErrText
+	}
+	return nil
 }
 
 // innermost is the number of the item that was opened last; so many provisions are open.
@@ -103,7 +133,7 @@ func (r *reader) line(around int, rest string) error {
 func (r *reader) provision(around int, body string) error {
 	label, _, _ := strings.Cut(body, textMark)
 	r.shut(around)
-	if !isLabel(label) || labelled(r.open[around].Kids, label) >= 0 {
+	if !IsLabel(label) || labelled(r.open[around].Kids, label) >= 0 {
 		return api.ErrName
 	}
 	if around >= api.MaxDeep || r.count >= api.MaxItems {
@@ -137,7 +167,7 @@ func readText(rest string) (string, error) {
 	if isTooLong(text) {
 		return "", api.ErrBound
 	}
-	if !apart || text == "" || !isLine(text) {
+	if !apart || text == "" || !IsLine(text) {
 		return "", api.ErrText
 	}
 	return text, nil

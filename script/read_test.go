@@ -257,3 +257,35 @@ func TestP33WhatIsReadIsRight(t *testing.T) {
 		checkRead(t, again, l)
 	}
 }
+
+// checkItemFault holds lines that are no provision against the error and its place.
+func checkItemFault(t *testing.T, rows []string, at int, want error) {
+	t.Helper()
+	it, err := ReadItem(rows)
+	f, ok := err.(*api.Fault)
+	if !ok || f.Err != want || f.At != at || !reflect.DeepEqual(it, api.Item{}) {
+		t.Errorf("%.60q: %v, %#v; want %v at %d", rows, it, err, want, at)
+	}
+}
+
+func TestP43ReadItem(t *testing.T) {
+	first := house().Kids[0]
+	rows := strings.Split(houseText, "\n")[2:9]
+	if got, err := ReadItem(rows); err != nil || !same(got, first) {
+		t.Errorf("%v, %v", got, err)
+	}
+	for _, none := range [][]string{nil, {}} {
+		checkItemFault(t, none, 0, api.ErrText)
+	}
+	checkItemFault(t, []string{"| a"}, 0, api.ErrText)
+	checkItemFault(t, []string{"|" + long()}, 0, api.ErrText)
+	checkItemFault(t, []string{"  a"}, 0, api.ErrText)
+	checkItemFault(t, []string{""}, 0, api.ErrName)
+	checkItemFault(t, []string{"a\nb"}, 0, api.ErrText)
+	checkItemFault(t, append(slices.Clone(rows), "  "), len(rows), api.ErrName)
+	checkItemFault(t, append(slices.Clone(rows), " "), len(rows), api.ErrText)
+	checkItemFault(t, append(slices.Clone(rows), "2"), len(rows), api.ErrText)
+	checkItemFault(t, append(slices.Clone(rows), "1"), len(rows), api.ErrName)
+	checkItemFault(t, append(slices.Clone(rows), "| x"), len(rows), api.ErrText)
+	checkItemFault(t, strings.Split(wideText(api.MaxItems), "\n")[1:], 1, api.ErrText)
+}

@@ -25,7 +25,7 @@ func (c *check) item(it api.Item, deep int, ahead []api.Item) error {
 	if !hasRightLabel(it, deep, ahead) {
 		return api.ErrName
 	}
-	if !isLine(it.Head) || !allLines(it.Lines) {
+	if !IsLine(it.Head) || !allLines(it.Lines) {
 		return api.ErrText
 	}
 	for i, kid := range it.Kids {
@@ -49,9 +49,9 @@ func hasRightLabel(it api.Item, deep int, ahead []api.Item) bool {
 	if deep == 0 {
 		return it.Label == ""
 	}
-	return isLabel(it.Label) && labelled(ahead, it.Label) < 0
+	return IsLabel(it.Label) && labelled(ahead, it.Label) < 0
 }
 
 func allLines(texts []string) bool {
-	return !slices.ContainsFunc(texts, func(text string) bool { return !isLine(text) })
+	return !slices.ContainsFunc(texts, func(text string) bool { return !IsLine(text) })
 }
