@@ -1,5 +1,7 @@
 package amend
 
+import "sort"
+
 // pair is an element of one list, and one of another.
 type pair struct{ from, to int }
 
@@ -33,4 +35,29 @@ func bestGains(n, m int, gain func(from, to int) int) [][]int {
 		}
 	}
 	return best
+}
+
+// rising is a longest list of numbers of elements, rising, whose values rise; all values are different.
+func rising(n int, value func(i int) int) []int {
+	var ends []int // for each length, the last element of a list that long: the one with the least value
+	ahead := make([]int, n)
+	for i := range n {
+		at := sort.Search(len(ends), func(k int) bool { return value(ends[k]) > value(i) })
+		ahead[i] = -1
+		if at > 0 {
+			ahead[i] = ends[at-1]
+		}
+		if at == len(ends) {
+			ends = append(ends, i)
+		}
+		ends[at] = i
+	}
+	list := make([]int, len(ends))
+	if n == 0 {
+		return list
+	}
+	for k, i := len(ends)-1, ends[len(ends)-1]; k >= 0; k, i = k-1, ahead[i] {
+		list[k] = i
+	}
+	return list
 }

@@ -154,7 +154,7 @@ func TestP42NeverABoundInSmallLaws(t *testing.T) {
 
 func TestP42WhatComesOfChanges(t *testing.T) {
 	r := rand.New(rand.NewSource(420))
-	for range 3000 {
+	for range 1000 {
 		a := someLaw(r, 3, 6)
 		if script.Valid(a) != nil {
 			continue

@@ -10,26 +10,37 @@ import (
 // tree is an item as it is held against others.
 type tree struct {
 	item    api.Item
-	path    string
-	content int // a number for all that it has but its label: the same one, the same content
+	outer   *tree // what it lies in; nil: it is the law
 	kids    []*tree
-	twin    bool // whether the same provision is at another place of the other law
+	number  int     // among all of its law, each ahead of its kids
+	size    int     // how many it is, with all that lies in it
+	place   int     // among its siblings
+	texts   int     // a number for its heading and its lines: the same one, the same texts
+	content int     // a number for all that it has but its label
+	like    []*tree // those of the other law with its label and its texts
+	stray   bool    // whether the other law has not the same at its path
+	twin    bool    // whether the other law seems to have it too, at another path
+	mate    *tree   // what becomes of it, or what it comes of; nil: nothing
+	inOrder bool    // whether it stays among its siblings where it is
 }
 
-// numbers are those of the contents that were met, by their forms.
+// numbers are those of the forms that were met.
 type numbers map[string]int
 
-// tree of the item at a path.
-func (n numbers) tree(it api.Item, path string) *tree {
-	t := &tree{item: it, path: path}
+// tree of an item that lies in another one.
+func (n numbers) tree(it api.Item, outer *tree) *tree {
+	t := &tree{item: it, outer: outer, size: 1}
 	var form strings.Builder
 	form.WriteString(it.Head + "\n")
 	for _, line := range it.Lines {
 		form.WriteString("|" + line + "\n")
 	}
-	for _, kid := range it.Kids {
-		inner := n.tree(kid, join(path, kid.Label))
+	t.texts = n.of(form.String())
+	for i, kid := range it.Kids {
+		inner := n.tree(kid, t)
+		inner.place = i
 		t.kids = append(t.kids, inner)
+		t.size += inner.size
 		form.WriteString(kid.Label + " " + strconv.Itoa(inner.content) + "\n")
 	}
 	t.content = n.of(form.String())
@@ -44,52 +55,34 @@ func (n numbers) of(form string) int {
 	return n[form]
 }
 
-// kind is what two provisions have in common that are the same, wherever they are.
-type kind struct {
-	label   string
-	content int
-}
-
-func (t *tree) kind() kind { return kind{t.item.Label, t.content} }
-
-// all are a tree and what lies in it.
-func (t *tree) all() []*tree {
-	list := []*tree{t}
+// all are a tree and what lies in it, each ahead of its kids, behind those of a list; they get their numbers.
+func (t *tree) all(list []*tree) []*tree {
+	t.number = len(list)
+	list = append(list, t)
 	for _, kid := range t.kids {
-		list = append(list, kid.all()...)
+		list = kid.all(list)
 	}
 	return list
 }
 
-// markTwins marks what two laws have both, but not at the same path.
-func markTwins(a, b *tree) {
-	strayA, strayB := strays(a, b), strays(b, a)
-	markAll(strayA, strayB)
-	markAll(strayB, strayA)
+func (t *tree) label() string { return t.item.Label }
+
+// path of a tree in its law.
+func (t *tree) path() string {
+	if t.outer == nil {
+		return ""
+	}
+	return join(t.outer.path(), t.label())
 }
 
-// strays are the provisions of a law of which others, or none, are at their paths in another law.
-func strays(l, other *tree) []*tree {
-	there := map[string]int{}
-	for _, t := range other.all() {
-		there[t.path] = t.content
-	}
-	var list []*tree
-	for _, t := range l.all() {
-		if there[t.path] != t.content {
-			list = append(list, t)
-		}
-	}
-	return list
-}
+// couple makes one tree become another one.
+func couple(x, y *tree) { x.mate, y.mate = y, x }
 
-// markAll marks those of a list that are the same as one of another list.
-func markAll(list, others []*tree) {
-	count := map[kind]int{}
-	for _, t := range others {
-		count[t.kind()]++
-	}
-	for _, t := range list {
-		t.twin = count[t.kind()] > 0
-	}
-}
+// part undoes that.
+func part(x *tree) { x.mate.mate, x.mate = nil, nil }
+
+// isInPlace tells whether what a tree lies in becomes that in which its mate lies.
+func (t *tree) isInPlace() bool { return t.outer.mate == t.mate.outer }
+
+// isExposed tells whether a tree has no mate, while what it lies in has one: it goes, or comes, by a change of its own.
+func (t *tree) isExposed() bool { return t.mate == nil && t.outer != nil && t.outer.mate != nil }
