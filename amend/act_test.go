@@ -410,3 +410,22 @@ func TestP4WriteActOnlyReads(t *testing.T) {
 		t.Errorf("%v, %v", a, err)
 	}
 }
+
+func TestP43NamesAndDays(t *testing.T) {
+	for name, want := range map[string]bool{"A": true, "z9Z": true, strings.Repeat("a", api.MaxWord): true, "": false, "9a": false, "a b": false, "a-b": false, "\u00e4": false, strings.Repeat("a", api.MaxWord+1): false} {
+		if IsName(name) != want {
+			t.Errorf("%q is a name: %v", name, !want)
+		}
+	}
+	for _, c := range []struct {
+		made, from, until int
+		want              bool
+	}{
+		{1, 1, 0, true}, {1, 1, 2, true}, {1, api.MaxDay, 0, true}, {1, 5, api.MaxDay, true},
+		{0, 1, 0, false}, {1, 0, 0, false}, {1, 1, -1, false}, {1, 1, api.MaxDay + 1, false}, {1, api.MaxDay + 1, 0, false}, {2, 1, 0, false}, {1, 1, 1, false},
+	} {
+		if IsTimed(api.Act{Made: c.made, From: c.from, Until: c.until}) != c.want {
+			t.Errorf("%+v", c)
+		}
+	}
+}

@@ -77,7 +77,7 @@ func (c *cursor) word() string {
 
 func (c *cursor) name() string {
 	name := c.word()
-	c.must(isName(name))
+	c.must(IsName(name))
 	return name
 }
 

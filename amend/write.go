@@ -18,7 +18,7 @@ func WriteAct(a api.Act) (string, error) {
 	if len(a.Ops) > api.MaxOps {
 		return "", api.ErrBound
 	}
-	if !isName(a.Name) || !hasDays(a) {
+	if !IsName(a.Name) || !hasDays(a) {
 		return "", api.ErrText
 	}
 	if err := checkOrder(a); err != nil {
@@ -47,8 +47,11 @@ func checkOrder(a api.Act) error {
 	return nil
 }
 
-// isName tells whether a text is an act's name.
-func isName(text string) bool {
+// IsTimed tells whether the days of an act are such, and in order.
+func IsTimed(a api.Act) bool { return hasDays(a) && checkOrder(a) == nil }
+
+// IsName tells whether a text is an act's name.
+func IsName(text string) bool {
 	if text == "" || len(text) > api.MaxWord || !isLetter(rune(text[0])) {
 		return false
 	}
