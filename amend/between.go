@@ -33,33 +33,23 @@ func fewest(a, b api.Item, most int) []api.Op {
 	var views []*view
 	for _, g := range guesses() {
 		v := newView(n.tree(a, nil), n.tree(b, nil), g)
+		v.ops = best
 		v.pairInside(v.from[0], v.to[0])
 		v.trial = v.weigh()
-		best = shorter(best, v)
+		v.take(v.trial)
 		views = append(views, v)
 	}
-	slices.SortStableFunc(views, func(v, w *view) int { return cmp.Compare(v.count, w.count) })
+	slices.SortStableFunc(views, func(v, w *view) int { return cmp.Compare(len(v.ops), len(w.ops)) })
+	best = views[0].ops
 	tries := maxTries
 	for _, v := range views {
 		if len(best) <= most {
 			break
 		}
-		tries = v.search(most-v.detours, tries)
-		best = shorter(best, v)
+		tries = v.search(most, tries)
+		if len(v.ops) < len(best) {
+			best = v.ops
+		}
 	}
 	return best
-}
-
-// shorter is a list of changes, or that of a view, if it is shorter.
-func shorter(ops []api.Op, v *view) []api.Op {
-	v.restore(v.worthy)
-	others, ok := changes(v.from, v.to)
-	if !ok {
-		return ops
-	}
-	v.detours = len(others) - v.count
-	if len(others) < len(ops) {
-		return others
-	}
-	return ops
 }

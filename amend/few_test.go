@@ -155,7 +155,7 @@ func soberOps(r *rand.Rand, a api.Item) (b api.Item, count int) {
 
 func TestP42AsFewAsWereMade(t *testing.T) {
 	r := rand.New(rand.NewSource(4242))
-	for range 2000 {
+	for range 800 {
 		a := untagged(someLaw(r, 1+r.Intn(5), 1+r.Intn(5)))
 		b, count := soberOps(r, a)
 		if script.Valid(a) != nil || count > api.MaxOps {

@@ -14,18 +14,18 @@ func (v *view) search(most, tries int) int {
 	for found := true; found; {
 		found = false
 		for _, c := range v.others() {
-			if v.count <= most || tries == 0 {
+			if len(v.ops) <= most || tries == 0 {
 				return tries
 			}
 			if c.x.mate == c.y || !canCouple(c.x, c.y) || !v.force(c.x, c.y) {
 				continue
 			}
 			tries--
-			if next := v.weigh(); next.count < v.count {
-				v.trial, found = next, true
-				continue
+			if v.take(v.weigh()) {
+				found = true
+			} else {
+				v.restore(v.all)
 			}
-			v.restore(v.all)
 		}
 	}
 	return tries

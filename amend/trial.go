@@ -4,7 +4,7 @@ package amend
 type trial struct {
 	all    []*tree // the mate of each, as far as there is one
 	worthy []*tree // the same, but for couples that are not worth it
-	count  int     // how many changes these take
+	count  int     // how many changes these take, if none is in another one's way
 }
 
 // weigh couples what has no mate, and then finds out what is worth it, until that makes no fewer changes.
@@ -23,6 +23,21 @@ func (v *view) weigh() trial {
 	}
 	v.restore(t.all)
 	return t
+}
+
+// take makes a trial the best one, if it takes fewer changes than the best one so far; it tells whether it does.
+func (v *view) take(t trial) bool {
+	if t.count >= len(v.ops) {
+		return false
+	}
+	v.restore(t.worthy)
+	ops, ok := changes(v.from, v.to)
+	v.restore(t.all)
+	if !ok || len(ops) >= len(v.ops) {
+		return false
+	}
+	v.trial, v.ops = t, ops
+	return true
 }
 
 // fill couples what has no mate.

@@ -3,6 +3,8 @@ package amend
 import (
 	"cmp"
 	"slices"
+
+	"statute/api"
 )
 
 // changeCost is what a change costs, so that there are halves.
@@ -11,10 +13,10 @@ const changeCost = 2
 // view is a way to hold two laws against each other. What goes at one place and comes at another one may be a single change, or two: that hangs on all the rest. So the views guess, each in its way.
 type view struct {
 	guess
-	from, to []*tree // all, each ahead of its kids
-	known    [][]int // what was found out about costs: one more each; 0: nothing
-	trial            // the best one so far
-	detours  int     // how many changes more it took, as provisions were in each other's way
+	from, to []*tree  // all, each ahead of its kids
+	known    [][]int  // what was found out about costs: one more each; 0: nothing
+	trial             // the best one so far
+	ops      []api.Op // its changes
 }
 
 // guess is what a view takes for granted.
