@@ -211,27 +211,117 @@ func TestP1LawsWithinThemselves(t *testing.T) {
 		t.Errorf("Find: %v", ok)
 	}
 	paths, items := Each(l, math.MaxInt)
-	if len(paths) < 2 || len(items) != len(paths) || paths[0] != "a" {
-		t.Errorf("Each: %q", paths)
+	if len(paths) <= api.MaxItems || len(items) != len(paths) || paths[0] != "a" || paths[1] != "a/a" {
+		t.Errorf("Each: %d paths, %d items", len(paths), len(items))
 	}
 }
 
-func TestP1ProvisionsThatComeAgain(t *testing.T) {
-	for size := range 5 {
-		first := kids("x")
-		last := first
-		for range size {
-			last[0].Kids = kids("x")
-			last = last[0].Kids
+// circle is a law in which a provision `a` with a line stands at each path of a's, however long: so many lists of kids, each within the one ahead, and the first within the last.
+func circle(size int) api.Item {
+	lists := make([][]api.Item, size)
+	for i := range lists {
+		lists[i] = kids("a")
+		lists[i][0].Lines = []string{"line"}
+	}
+	for i := range lists {
+		lists[i][0].Kids = lists[(i+1)%size]
+	}
+	return api.Item{Kids: lists[0]}
+}
+
+func TestP34EachWhereListsLieWithinThemselves(t *testing.T) {
+	for size := 1; size <= 9; size++ {
+		l := circle(size)
+		for _, most := range []int{1, 2, 3, 5, 8, api.MaxItems + 1, 1000} {
+			paths, items := Each(l, most)
+			if len(paths) != most || len(items) != most {
+				t.Errorf("%d lists: %d paths, %d items; want %d", size, len(paths), len(items), most)
+			}
+			for i, path := range paths {
+				if path != "a"+strings.Repeat("/a", i) {
+					t.Errorf("%d lists: number %d is %.20q", size, i, path)
+				}
+				if it := items[i]; it.Label != "a" || !slices.Equal(it.Lines, []string{"line"}) || len(it.Kids) != 1 {
+					t.Errorf("%d lists: number %d is another provision", size, i)
+				}
+			}
 		}
-		last[0].Kids = first
-		l := api.Item{Kids: []api.Item{{Label: "1", Kids: []api.Item{{Label: "a", Kids: first}}}}}
-		if it, ok := Find(l, "1/a"); !ok || len(it.Kids) != 1 {
-			t.Errorf("%d around: Find: %v", size, ok)
+	}
+}
+
+func TestP34EachWhereALawComesAgain(t *testing.T) {
+	list := kids("a", "b")
+	list[1].Kids = list
+	want := []string{"a", "b", "b/a", "b/b", "b/b/a", "b/b/b", "b/b/b/a"}
+	if paths, _ := Each(api.Item{Kids: list}, len(want)); !slices.Equal(paths, want) {
+		t.Errorf("%q; want %q", paths, want)
+	}
+}
+
+// P2: on no address.
+func TestP2LawsThatReadTheSame(t *testing.T) {
+	one := circle(1)
+	wantPaths, wantItems := Each(one, 20)
+	for size := 2; size <= 9; size++ {
+		l := circle(size)
+		for _, path := range []string{"", "a", "a/a/a"} {
+			want, _ := Find(one, path)
+			if it, ok := Find(l, path); !ok || !reflect.DeepEqual(it, want) {
+				t.Errorf("%d lists: %q is another provision", size, path)
+			}
 		}
-		if paths, _ := Each(l, math.MaxInt); len(paths) < size+3 {
-			t.Errorf("%d around: Each: %q", size, paths)
+		if paths, items := Each(l, 20); !slices.Equal(paths, wantPaths) || !reflect.DeepEqual(items, wantItems) {
+			t.Errorf("%d lists: other paths, or provisions", size)
 		}
+	}
+}
+
+func TestP30FindOfManyProvisions(t *testing.T) {
+	for _, l := range []api.Item{wide(20000), chain(5000), {Kids: []api.Item{wide(3000), wide(4000), chain(100)}}} {
+		if it, ok := Find(l, ""); !ok || !reflect.DeepEqual(it, l) {
+			t.Errorf("%d provisions in it: another law", len(l.Kids))
+		}
+	}
+}
+
+func TestP1ManyMoreProvisionsThanLists(t *testing.T) {
+	list := kids("a", "b")
+	for range 100 {
+		outer := kids("a", "b")
+		outer[0].Kids, outer[1].Kids = list, list
+		list = outer
+	}
+	l := api.Item{Kids: list}
+	if it, ok := Find(l, "a/b"); !ok || len(it.Kids) != 2 || len(it.Kids[0].Kids) != 2 || len(it.Kids[1].Kids[1].Kids) != 2 {
+		t.Errorf("Find: %v", ok)
+	}
+	if paths, items := Each(l, 120); len(items) != 120 || len(paths) != 120 || paths[100] != strings.Repeat("a/", 100)+"a" {
+		t.Errorf("Each: %d, %d", len(paths), len(items))
+	}
+}
+
+// P4: also where two provisions that are given share a list.
+func TestP4WhatIsGivenMayShareMemory(t *testing.T) {
+	make2 := func() api.Item {
+		list := []api.Item{{Label: "x", Lines: []string{"line"}}}
+		return api.Item{Kids: []api.Item{{Label: "a", Kids: list}, {Label: "b", Kids: list}}}
+	}
+	l := make2()
+	it, _ := Find(l, "")
+	blot(it.Kids[0])
+	if !reflect.DeepEqual(it.Kids[1], make2().Kids[1]) || !reflect.DeepEqual(l, make2()) {
+		t.Errorf("Find: %v, %v", it, l)
+	}
+	_, items := Each(l, 9)
+	blot(items[0])
+	if !reflect.DeepEqual(items[2], make2().Kids[1]) || !reflect.DeepEqual(l, make2()) {
+		t.Errorf("Each: %v, %v", items, l)
+	}
+	c := circle(1)
+	it, _ = Find(c, "a")
+	blot(it)
+	if again, _ := Find(c, "a/a"); again.Label != "a" || again.Lines[0] != "line" {
+		t.Errorf("a list within itself: %q", again.Label)
 	}
 }
 
