@@ -4,45 +4,65 @@ import (
 	"iter"
 
 	"statute/api"
+	"statute/tree"
 )
 
-// maxPaths is how many bytes the paths that are gone through may have together. A list may lie within itself, and a law with such a list has provisions without an end.
-const maxPaths = 1 << 24
+// Bounds of a way through a law, in bytes. A list may lie within itself, and then there are provisions without an end.
+const (
+	maxPaths   = 1 << 32 // of all paths together
+	maxEndless = 1 << 24 // of the paths of provisions that have no end
+)
 
 // Each provision, at most so many.
 func Each(l api.Item, most int) (paths []string, items []api.Item) {
-	for path, it := range Through(l) {
-		if len(paths) >= most {
+	scale := shape().Scale()
+	copier := scale.Copier()
+	for path, it := range through(&l, scale) {
+		if len(paths) >= most || !copier.Take(it) {
 			break
 		}
 		paths = append(paths, path)
-		items = append(items, it)
 	}
-	return paths, shape().Copies(items)
+	return paths, copier.Copies()
 }
 
 // Through a law: the paths of its provisions, each ahead of its kids, and they, as they lie in the law. It comes to an end, also where the law has none.
-func Through(l api.Item) iter.Seq2[string, api.Item] {
-	return func(yield func(string, api.Item) bool) {
-		w := walk{room: maxPaths, yield: yield}
+func Through(l api.Item) iter.Seq2[string, *api.Item] { return through(&l, shape().Scale()) }
+
+func through(l *api.Item, s *tree.Scale[api.Item]) iter.Seq2[string, *api.Item] {
+	return func(yield func(string, *api.Item) bool) {
+		w := walk{scale: s, room: maxWhole, paths: maxPaths, endless: maxEndless, yield: yield}
 		w.within(l, "")
 	}
 }
 
 // walk is a way through a law.
 type walk struct {
-	room  int // for bytes of paths
-	yield func(string, api.Item) bool
+	scale   *tree.Scale[api.Item]
+	room    int // for provisions and lines
+	paths   int // room for bytes of paths
+	endless int // that for bytes of paths of provisions that have no end
+	yield   func(string, *api.Item) bool
 }
 
 // within goes through the kids of an item, and tells whether to go on; ahead is what their paths begin with.
-func (w *walk) within(it api.Item, ahead string) bool {
-	for _, kid := range it.Kids {
+func (w *walk) within(it *api.Item, ahead string) bool {
+	for i := range it.Kids {
+		kid := &it.Kids[i]
 		path := ahead + kid.Label
-		w.room -= len(path)
-		if w.room < 0 || !w.yield(path, kid) || !w.within(kid, path+pathMark) {
+		if !w.takes(kid, path) || !w.yield(path, kid) || !w.within(kid, path+pathMark) {
 			return false
 		}
 	}
 	return true
+}
+
+// takes tells whether there is room for a provision.
+func (w *walk) takes(it *api.Item, path string) bool {
+	w.room -= weight(it)
+	w.paths -= len(path)
+	if w.scale.Weigh(it) > maxWhole {
+		w.endless -= len(path)
+	}
+	return w.room >= 0 && w.paths >= 0 && w.endless >= 0
 }

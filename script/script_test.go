@@ -337,3 +337,89 @@ func TestP1VeryDeepLaws(t *testing.T) {
 		t.Errorf("Each: %q", paths)
 	}
 }
+
+// deepUnder is how many provisions lie within each other under an item.
+func deepUnder(it api.Item) int {
+	deep := 0
+	for len(it.Kids) > 0 {
+		it = it.Kids[0]
+		deep++
+	}
+	return deep
+}
+
+func TestP34EachProvisionIsWhole(t *testing.T) {
+	for _, size := range []int{700, 1500} {
+		paths, items := Each(chain(size), 2*size)
+		if len(paths) != size || len(items) != size {
+			t.Fatalf("%d paths, %d provisions; want %d", len(paths), len(items), size)
+		}
+		for i, it := range items {
+			if deepUnder(it) != size-1-i {
+				t.Fatalf("%d under provision %d of %d", deepUnder(it), i, size)
+			}
+		}
+	}
+}
+
+// P34: what has an end is whole, also in a law that has none.
+func TestP34EachBesideWhatHasNoEnd(t *testing.T) {
+	first, second := wide(900), circle(1)
+	first.Label, second.Label = "x", "y"
+	l := api.Item{Kids: []api.Item{first, second}}
+	paths, items := Each(l, 905)
+	if len(paths) != 905 || paths[904] != "y/a/a/a" || !reflect.DeepEqual(items[0], first) {
+		t.Errorf("%d paths; %d provisions in the first", len(paths), len(items[0].Kids))
+	}
+	if it, ok := Find(l, "x"); !ok || !reflect.DeepEqual(it, first) {
+		t.Errorf("Find: %v, %d provisions", ok, len(it.Kids))
+	}
+}
+
+func TestP34EachOfLongPaths(t *testing.T) {
+	long := strings.Repeat("a", 1000000)
+	l := api.Item{}
+	for i := range 40 {
+		l.Kids = append(l.Kids, api.Item{Label: long + strconv.Itoa(i)})
+	}
+	end := circle(2)
+	end.Label = "end"
+	l.Kids = append(l.Kids, end)
+	paths, items := Each(l, 50)
+	if len(paths) != 50 || len(items) != 50 {
+		t.Fatalf("%d paths, %d provisions", len(paths), len(items))
+	}
+	for i := range 40 {
+		if paths[i] != l.Kids[i].Label || items[i].Label != paths[i] {
+			t.Errorf("number %d is another provision", i)
+		}
+	}
+	if paths[49] != "end"+strings.Repeat("/a", 9) {
+		t.Errorf("%.40q", paths[49])
+	}
+	if paths, _ := Each(chain(5000), 3); len(paths) != 3 {
+		t.Errorf("%d paths", len(paths))
+	}
+	count := 0
+	for range Through(chain(5000)) {
+		count++
+	}
+	if count != 5000 {
+		t.Errorf("%d provisions", count)
+	}
+}
+
+// P1: provisions without an end, with very many lines each.
+func TestP1ManyLinesWithoutAnEnd(t *testing.T) {
+	l := circle(3)
+	for list, i := l.Kids, 0; i < 3; list, i = list[0].Kids, i+1 {
+		list[0].Lines = make([]string, 1000000)
+	}
+	paths, items := Each(l, math.MaxInt)
+	if len(paths) == 0 || len(paths) != len(items) || len(items[0].Lines) != 1000000 {
+		t.Errorf("%d paths, %d provisions", len(paths), len(items))
+	}
+	if it, ok := Find(l, "a/a"); !ok || len(it.Lines) != 1000000 {
+		t.Errorf("%v, %d lines", ok, len(it.Lines))
+	}
+}

@@ -19,10 +19,25 @@ const (
 	isDone
 )
 
+// searched is a condition that is being looked through.
+type searched struct {
+	at    place    // of the definition whose condition it is
+	names []string // in it that are still to be looked at
+}
+
 // search throws ErrOrder, if a name in a condition at a path means itself. A condition that is too great may hide that, so it is looked for first.
 func (o *opener) search(path string, n Node) {
-	for _, name := range namesOf(n) {
-		d, there := o.find(path, name)
+	open := []searched{{place{path}, namesOf(n)}}
+	for len(open) > 0 {
+		top := &open[len(open)-1]
+		if len(top.names) == 0 {
+			o.states[top.at] = isDone
+			open = open[:len(open)-1]
+			continue
+		}
+		name := top.names[0]
+		top.names = top.names[1:]
+		d, there := o.find(top.at[0], name)
 		if !there {
 			continue
 		}
@@ -32,32 +47,28 @@ func (o *opener) search(path string, n Node) {
 			throw(api.ErrOrder)
 		case notMet:
 			o.states[key] = isOpen
-			o.search(d.Path, d.Sentence.If)
-			o.states[key] = isDone
+			open = append(open, searched{key, namesOf(d.Sentence.If)})
 		}
 	}
 }
 
-// namesOf a condition: those that could be defined, from the left.
+// namesOf a condition: those that could be defined.
 func namesOf(n Node) []string {
 	var names []string
-	ahead := [][]Node{{n}}
-	for looked := 0; len(ahead) > 0 && looked < maxLooked; {
-		last := len(ahead) - 1
-		if len(ahead[last]) == 0 {
-			ahead = ahead[:last]
-			continue
-		}
-		first := ahead[last][0]
-		ahead[last] = ahead[last][1:]
-		looked++
-		if first.Kind == nameKind {
-			names = append(names, first.Word)
-		} else if isOfConditions(first.Kind) {
-			ahead = append(ahead, first.Kids)
+	for node := range tree.Once(&n, conditionsIn) {
+		if node.Kind == nameKind {
+			names = append(names, node.Word)
 		}
 	}
 	return names
+}
+
+// conditionsIn a node are its kids, if they are conditions.
+func conditionsIn(n *Node) []Node {
+	if isOfConditions(n.Kind) {
+		return n.Kids
+	}
+	return nil
 }
 
 // isOfConditions tells whether what stands in a node of a kind are conditions.
@@ -101,11 +112,16 @@ func (o *opener) each(n Node, become func(kid Node) Node) Node {
 	return n
 }
 
+// maxWhole is how many nodes are copied whole: as many as there is room for in memory.
+const maxWhole = 1 << 26
+
 // shape of nodes. Of what can't be copied whole there is more in a copy than can be opened.
 func shape() tree.Shape[Node] {
 	return tree.Shape[Node]{
-		Kids: func(n *Node) *[]Node { return &n.Kids },
-		Own:  func(n *Node) {},
-		Part: 2 * maxOpened,
+		Kids:   func(n *Node) *[]Node { return &n.Kids },
+		Own:    func(n *Node) {},
+		Weight: func(n *Node) int { return 1 },
+		Whole:  maxWhole,
+		Part:   2 * maxOpened,
 	}
 }

@@ -10,11 +10,8 @@ import (
 // pathMark stands between two labels of a path.
 const pathMark = "/"
 
-// Bounds of what is looked at.
-const (
-	maxOpened = 2000   // nodes of a condition that was opened
-	maxLooked = 100000 // nodes of one that is given: it may have no end, as a list can lie within itself
-)
+// maxOpened is how many nodes a condition that was opened has at most.
+const maxOpened = 2000
 
 // collection is the sentences that were met.
 type collection struct {

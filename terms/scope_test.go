@@ -3,6 +3,7 @@ package terms
 import (
 	"errors"
 	"reflect"
+	"slices"
 	"strconv"
 	"strings"
 	"testing"
@@ -334,6 +335,61 @@ func TestP1NodesWithoutAnEnd(t *testing.T) {
 		if _, err := Opened(placed, "1", node("and", named("y"), n)); err != api.ErrOrder {
 			t.Errorf("%d: Opened: %v", i, err)
 		}
+	}
+}
+
+// P63: ErrOrder is told wherever the name stands, also where there is no end.
+func TestP63WhatMeansItselfStandsBehindVeryMuch(t *testing.T) {
+	placed := placedOf(t, "law\n| define u: not v\n| define v: u or a\n| define w: a\n")
+	wide := node("or")
+	for range 200000 {
+		wide.Kids = append(wide.Kids, named("w"))
+	}
+	deep := named("w")
+	for range 200000 {
+		deep = node("not", deep)
+	}
+	round := node("and", named("w"), Node{})
+	round.Kids[1] = round
+	for i, much := range []Node{wide, deep, chainOf(100000, "w"), round} {
+		if _, err := Opened(placed, "1", much); err != api.ErrBound {
+			t.Errorf("number %d: %v", i, err)
+		}
+		for _, n := range []Node{node("or", much, named("u")), node("or", named("v"), much), node("or", much, of1("some", "a", named("v")))} {
+			if _, err := Opened(placed, "1", n); err != api.ErrOrder {
+				t.Errorf("number %d: %v; want ErrOrder", i, err)
+			}
+		}
+		// So it is in what is put in.
+		more := append(slices.Clone(placed), Placed{Sentence: Sentence{Kind: "define", Name: "x", If: node("or", much, named("u"))}})
+		if _, err := Opened(more, "1", node("not", named("x"))); err != api.ErrOrder {
+			t.Errorf("number %d: %v; want ErrOrder", i, err)
+		}
+	}
+	round.Kids[1] = node("or", named("w"), named("u"))
+	round.Kids[1].Kids[0] = round
+	if _, err := Opened(placed, "1", round); err != api.ErrOrder {
+		t.Errorf("in what has no end: %v; want ErrOrder", err)
+	}
+}
+
+func TestP63AllOfLongPaths(t *testing.T) {
+	var l api.Item
+	long := strings.Repeat("a", 1000000)
+	for i := range 30 {
+		l.Kids = append(l.Kids, api.Item{Label: long + strconv.Itoa(i), Lines: []string{"define b: c", "define :"}})
+	}
+	placed, wrong := All(l)
+	if len(placed) != 30 || len(wrong) != 30 || placed[29].Path != long+"29" {
+		t.Errorf("%d sentences, %d wrong ones", len(placed), len(wrong))
+	}
+	l = api.Item{}
+	for range 5000 {
+		l.Label, l.Lines = "a", []string{"define b: c"}
+		l = api.Item{Kids: []api.Item{l}}
+	}
+	if placed, _ := All(l); len(placed) != 5000 {
+		t.Errorf("%d sentences", len(placed))
 	}
 }
 

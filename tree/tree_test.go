@@ -13,22 +13,74 @@ type bush struct {
 	kids []bush
 }
 
-const part = 50
+const (
+	whole = 10000
+	part  = 50
+)
 
 func shape() Shape[bush] {
 	return Shape[bush]{
-		Kids: func(b *bush) *[]bush { return &b.kids },
-		Own:  func(b *bush) { b.own = slices.Clone(b.own) },
-		Part: part,
+		Kids:   func(b *bush) *[]bush { return &b.kids },
+		Own:    func(b *bush) { b.own = slices.Clone(b.own) },
+		Weight: func(b *bush) int { return 1 + len(b.own) },
+		Whole:  whole,
+		Part:   part,
 	}
 }
 
-func sizeOf(b bush) int {
-	size := 1
+// weightOf a tree that has an end.
+func weightOf(b bush) int {
+	weight := 1 + len(b.own)
 	for _, kid := range b.kids {
-		size += sizeOf(kid)
+		weight += weightOf(kid)
 	}
-	return size
+	return weight
+}
+
+// copiesOf trees, and how many of them were taken.
+func copiesOf(trees ...bush) ([]bush, int) {
+	c := shape().Scale().Copier()
+	for i := range trees {
+		if !c.Take(&trees[i]) {
+			return c.Copies(), i
+		}
+	}
+	return c.Copies(), len(trees)
+}
+
+// flat is a tree with so many kids.
+func flat(count int) bush { return bush{kids: make([]bush, count)} }
+
+// deep is a tree with so many nodes within each other under the first one.
+func deep(count int) bush {
+	b := bush{}
+	for range count {
+		b = bush{kids: []bush{b}}
+	}
+	return b
+}
+
+// doubled is a tree in which there are twice as many nodes from level to level; each level is one list in memory.
+func doubled(levels int) bush {
+	b := bush{}
+	for range levels {
+		b = bush{kids: []bush{b, b}}
+	}
+	return b
+}
+
+// round is a tree without an end: so many lists within each other, the last one within the first, each with so many nodes.
+func round(lists, wide int) bush {
+	all := make([][]bush, lists)
+	for i := range all {
+		all[i] = make([]bush, wide)
+	}
+	for i := range all {
+		for k := range all[i] {
+			all[i][k].kids = all[(i+1+k)%lists]
+		}
+	}
+	return bush{kids: all[0]}
 }
 
 func TestP4CopiesAreNewMemory(t *testing.T) {
@@ -45,67 +97,188 @@ func TestP4CopiesAreNewMemory(t *testing.T) {
 	if !reflect.DeepEqual(b, grow()) || !reflect.DeepEqual(c.kids[1], grow().kids[1]) {
 		t.Errorf("memory is shared: %v, %v", b, c)
 	}
-	if all := shape().Copies([]bush{b, b}); !reflect.DeepEqual(all, []bush{b, b}) || &all[0].kids[0] == &all[1].kids[0] {
+	all, _ := copiesOf(b, b, b.kids[0])
+	if !reflect.DeepEqual(all, []bush{b, b, b.kids[0]}) {
 		t.Errorf("%v", all)
 	}
-	if all := shape().Copies(nil); len(all) != 0 {
-		t.Errorf("%v", all)
+	all[0].kids[0].kids[0].own[0] = 9
+	if !reflect.DeepEqual(all[1:], []bush{grow(), grow().kids[0]}) || !reflect.DeepEqual(b, grow()) {
+		t.Errorf("memory is shared: %v", all)
+	}
+	if none, _ := copiesOf(); len(none) != 0 {
+		t.Errorf("%v", none)
 	}
 }
 
-func TestP1TreesWithoutAnEnd(t *testing.T) {
-	for _, wide := range []int{1, 2, 3, 49, 50, 51, 1000} {
-		kids := make([]bush, wide)
-		for i := range kids {
-			kids[i] = bush{own: []int{i}, kids: kids}
-		}
-		c := shape().Copy(bush{kids: kids})
-		if size := sizeOf(c); size != part+1 {
-			t.Errorf("%d beside each other: %d nodes", wide, size)
-		}
-		// What is less deep comes first.
-		if len(c.kids) != min(wide, part) || wide <= 3 && len(c.kids[wide-1].kids) != wide {
-			t.Errorf("%d beside each other: %d kids", wide, len(c.kids))
-		}
-		c.kids[0].own[0] = -1
-		if kids[0].own[0] != 0 || c.kids[len(c.kids)-1].own[0] != len(c.kids)-1 && len(c.kids) > 1 {
-			t.Errorf("%d beside each other: memory is shared", wide)
+func TestWeights(t *testing.T) {
+	for want, b := range map[int]bush{
+		1:         {},
+		4:         {own: make([]int, 3)},
+		6:         {kids: []bush{{own: make([]int, 3)}, {}}},
+		8191:      doubled(12),
+		whole:     deep(whole - 1),
+		whole - 1: flat(whole - 2),
+	} {
+		if got := shape().Scale().Weigh(&b); got != want {
+			t.Errorf("%d; want %d", got, want)
 		}
 	}
-}
-
-func TestP2WhatReadsTheSameIsCutOffAtTheSamePlace(t *testing.T) {
-	var first bush
-	for lists := 1; lists <= 5; lists++ {
-		all := make([][]bush, lists)
-		for i := range all {
-			all[i] = []bush{{name: "a"}, {name: "b"}}
-		}
-		for i := range all {
-			all[i][0].kids, all[i][1].kids = all[(i+1)%lists], all[(i+2)%lists]
-		}
-		c := shape().Copy(bush{kids: all[0]})
-		if lists == 1 {
-			first = c
-		}
-		if !reflect.DeepEqual(c, first) {
-			t.Errorf("%d lists: another copy", lists)
+	for i, b := range []bush{flat(whole), deep(whole), doubled(13), doubled(100), {own: make([]int, whole)}, {own: make([]int, 3*whole)}, round(1, 1), round(3, 2), {kids: []bush{{}, deep(3), round(2, 2), {}}}} {
+		if got := shape().Scale().Weigh(&b); got != whole+1 {
+			t.Errorf("number %d: %d", i, got)
 		}
 	}
 }
 
-func TestP1GreatTrees(t *testing.T) {
-	for count, want := range map[int]int{maxWhole - 1: maxWhole, maxWhole: part + 1} {
-		flat := bush{kids: make([]bush, count)}
-		if size := sizeOf(shape().Copy(flat)); size != want {
-			t.Errorf("%d kids: %d nodes; want %d", count, size, want)
+func TestWeightsOfPartsOfOneTree(t *testing.T) {
+	b := bush{kids: []bush{deep(3), round(2, 2), {}, doubled(2)}}
+	for range 2 {
+		s := shape().Scale()
+		order := []int{1, 3, 0, 2}
+		for _, first := range []bool{true, false} {
+			if got := s.Weigh(&b); first && got != whole+1 {
+				t.Error(got)
+			}
+			for _, i := range order {
+				if got, want := s.Weigh(&b.kids[i]), []int{4, whole + 1, 1, 7}[i]; got != want {
+					t.Errorf("kid %d: %d, want %d", i, got, want)
+				}
+			}
+			slices.Reverse(order)
 		}
-		deep := bush{}
-		for range count {
-			deep = bush{kids: []bush{deep}}
+	}
+}
+
+func TestWhatHasAnEndIsCopiedWhole(t *testing.T) {
+	for i, b := range []bush{deep(whole - 1), flat(whole - 1), doubled(12), {own: make([]int, whole-1)}} {
+		if c := shape().Copy(b); !reflect.DeepEqual(b, c) {
+			t.Errorf("number %d: another tree", i)
 		}
-		if size := sizeOf(shape().Copy(deep)); size != want {
-			t.Errorf("%d deep: %d nodes; want %d", count, size, want)
+		if all, taken := copiesOf(b); taken != 1 || !reflect.DeepEqual(all[0], b) {
+			t.Errorf("number %d: another tree", i)
 		}
+	}
+}
+
+func TestP1WhatIsTooHeavyIsCopiedInPart(t *testing.T) {
+	for i, b := range []bush{deep(whole), flat(whole), doubled(13), doubled(100), round(1, 1), round(2, 3), round(1, part), round(3, part+1), round(1, 1000)} {
+		if weight := weightOf(shape().Copy(b)); weight != part+1 {
+			t.Errorf("number %d: %d", i, weight)
+		}
+		all, _ := copiesOf(b)
+		if weight := weightOf(all[0]); weight != part+1 {
+			t.Errorf("number %d: %d", i, weight)
+		}
+	}
+	// What is less deep comes first.
+	if c := shape().Copy(round(2, 3)); len(c.kids) != 3 || len(c.kids[2].kids) != 3 || len(c.kids[0].kids[0].kids) != 3 {
+		t.Errorf("%v", c)
+	}
+	// What a node has by itself counts, but for the first one.
+	heavy := round(1, 1)
+	heavy.own, heavy.kids[0].own = make([]int, 500), make([]int, 19)
+	if c := shape().Copy(heavy); weightOf(c) != 501+2*20 {
+		t.Errorf("%v", c)
+	}
+	heavy.kids[0].own = make([]int, part)
+	if c := shape().Copy(heavy); weightOf(c) != 501 {
+		t.Errorf("%v", c)
+	}
+	// Nothing comes behind what was left out.
+	heavy.kids = []bush{{own: make([]int, part-1), kids: heavy.kids}, {}}
+	if c := shape().Copy(heavy); len(c.kids) != 1 || len(c.kids[0].kids) != 0 {
+		t.Errorf("%v", c)
+	}
+}
+
+func TestCopiesOfManyTrees(t *testing.T) {
+	// What has an end is whole, whatever else is taken.
+	all, _ := copiesOf(deep(700), round(1, 1), doubled(100), deep(whole/2))
+	for i, want := range []int{701, part + 1, part + 1, whole/2 + 1} {
+		if weight := weightOf(all[i]); weight != want {
+			t.Errorf("number %d: %d, want %d", i, weight, want)
+		}
+	}
+	// If there is no room for all, all are copied in part.
+	all, taken := copiesOf(deep(whole/2), deep(20), deep(whole/2))
+	if taken != 3 {
+		t.Errorf("%d", taken)
+	}
+	for i, want := range []int{part + 1, 21, part + 1} {
+		if weight := weightOf(all[i]); weight != want {
+			t.Errorf("number %d: %d, want %d", i, weight, want)
+		}
+	}
+	// Parts, too, need room.
+	many := slices.Repeat([]bush{round(1, 2)}, whole)
+	if all, taken := copiesOf(many...); taken != whole/(part+1) || len(all) != taken {
+		t.Errorf("%d, %d", taken, len(all))
+	}
+	if all, taken := copiesOf(make([]bush, whole+1)...); taken != whole || len(all) != taken {
+		t.Errorf("%d, %d", taken, len(all))
+	}
+}
+
+func TestP2WhatReadsTheSameIsCopiedTheSame(t *testing.T) {
+	for wide := 1; wide <= 3; wide++ {
+		want := shape().Copy(round(1, wide))
+		for lists := 2; lists <= 5; lists++ {
+			if c := shape().Copy(round(lists, wide)); !reflect.DeepEqual(c, want) {
+				t.Errorf("%d lists of %d: another copy", lists, wide)
+			}
+		}
+	}
+	// As one list a level, and as many.
+	for _, levels := range []int{12, 13} {
+		b := doubled(levels)
+		own := shape()
+		own.Whole = 1 << 20
+		if !reflect.DeepEqual(shape().Copy(b), shape().Copy(own.Copy(b))) {
+			t.Errorf("%d levels: another copy", levels)
+		}
+	}
+}
+
+// namesIn are the names of the nodes that are gone through.
+func namesIn(b bush, most int) []string {
+	var names []string
+	for n := range Once(&b, func(n *bush) []bush { return n.kids }) {
+		names = append(names, n.name)
+		if len(names) == most {
+			break
+		}
+	}
+	return names
+}
+
+func TestOnce(t *testing.T) {
+	twigs := []bush{{name: "x"}, {name: "y", kids: []bush{{name: "z"}}}}
+	b := bush{name: "a", kids: []bush{{name: "b", kids: twigs}, {name: "c"}, {name: "d", kids: twigs}}}
+	want := []string{"a", "b", "x", "y", "z", "c", "d", "x", "y"}
+	for most := 1; most <= len(want); most++ {
+		if got := namesIn(b, most); !slices.Equal(got, want[:most]) {
+			t.Errorf("at most %d: %q", most, got)
+		}
+	}
+	if got := namesIn(bush{name: "a"}, 9); !slices.Equal(got, []string{"a"}) {
+		t.Errorf("%q", got)
+	}
+}
+
+func TestP1OnceComesToAnEnd(t *testing.T) {
+	for lists := 1; lists <= 4; lists++ {
+		for wide := 1; wide <= 3; wide++ {
+			b := round(lists, wide)
+			names := namesIn(b, -1)
+			if most := 2*lists*wide*wide + wide + 1; len(names) > most {
+				t.Errorf("%d lists of %d: %d nodes", lists, wide, len(names))
+			}
+		}
+	}
+	if names := namesIn(doubled(1000), -1); len(names) > 4000 {
+		t.Errorf("%d nodes", len(names))
+	}
+	if names := namesIn(deep(1000000), -1); len(names) != 1000001 {
+		t.Errorf("%d nodes", len(names))
 	}
 }
