@@ -36,7 +36,7 @@ func WriteAct(a api.Act) (string, error) {
 
 // hasDays tells whether the days of an act are such; that up to which it is in force may be none.
 func hasDays(a api.Act) bool {
-	return day.Text(a.Made) != "" && day.Text(a.From) != "" && (a.Until == 0 || day.Text(a.Until) != "")
+	return day.IsDay(a.Made) && day.IsDay(a.From) && (a.Until == 0 || day.IsDay(a.Until))
 }
 
 // checkOrder tells whether the days of an act are in order.

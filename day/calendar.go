@@ -15,7 +15,7 @@ type Calendar struct {
 
 // Works: a working day.
 func (c *Calendar) Works(day int) bool {
-	if !isDay(day) {
+	if !IsDay(day) {
 		return false
 	}
 	return c == nil || !c.Off[Week(day)] && !slices.Contains(c.Holidays, day)
@@ -26,7 +26,7 @@ func (c *Calendar) Roll(day, how int) (int, error) {
 	if !isRoll(how) {
 		return 0, api.ErrKind
 	}
-	if !isDay(day) {
+	if !IsDay(day) {
 		return 0, api.ErrDay
 	}
 	switch how {
@@ -43,7 +43,7 @@ func (c *Calendar) Add(day, n int) (int, error) {
 	if n < -api.MaxTerm || n > api.MaxTerm {
 		return 0, api.ErrBound
 	}
-	if !isDay(day) {
+	if !IsDay(day) {
 		return 0, api.ErrDay
 	}
 	if n > 0 {
@@ -90,7 +90,7 @@ func (c *Calendar) plan() plan {
 		}
 	}
 	for _, day := range c.Holidays {
-		if isDay(day) && !p.off[Week(day)] {
+		if IsDay(day) && !p.off[Week(day)] {
 			p.holidays = append(p.holidays, day)
 		}
 	}

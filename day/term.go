@@ -21,7 +21,7 @@ func (c *Calendar) Due(start int, t Term) (int, error) {
 	if !isUnit(t.Unit) || !isRoll(t.Roll) {
 		return 0, api.ErrKind
 	}
-	if !isDay(start) {
+	if !IsDay(start) {
 		return 0, api.ErrDay
 	}
 	end, err := c.end(start, t)
