@@ -7,10 +7,11 @@ import (
 	"statute/tree"
 )
 
-// Bounds of a way through a law, in bytes. A list may lie within itself, and then there are provisions without an end.
+// Bounds of a way through a law. A list may lie within itself, and then there are provisions without an end.
 const (
-	maxPaths   = 1 << 32 // of all paths together
-	maxEndless = 1 << 24 // of the paths of provisions that have no end
+	maxPaths   = 1 << 32 // bytes of all paths together
+	maxEndless = 1 << 24 // bytes of the paths of provisions that have no end
+	maxWithin  = 1 << 22 // provisions and lines within those
 )
 
 // Each provision, at most so many.
@@ -63,6 +64,7 @@ func (w *walk) takes(it *api.Item, path string) bool {
 	w.paths -= len(path)
 	if w.scale.Weigh(it) > maxWhole {
 		w.endless -= len(path)
+		w.room = min(w.room, maxWithin)
 	}
 	return w.room >= 0 && w.paths >= 0 && w.endless >= 0
 }
