@@ -52,11 +52,13 @@ func (o *opener) search(path string, n Node) {
 	}
 }
 
-// namesOf a condition: those that could be defined.
+// namesOf a condition: those that could be defined, each once.
 func namesOf(n Node) []string {
 	var names []string
+	met := map[string]int{}
 	for node := range tree.Once(&n, conditionsIn) {
-		if node.Kind == nameKind {
+		if node.Kind == nameKind && met[node.Word] == 0 {
+			met[node.Word]++
 			names = append(names, node.Word)
 		}
 	}

@@ -39,18 +39,19 @@ type place [2]string
 // definitions are the definitions among sentences, by their places.
 type definitions struct {
 	sentences []Placed
-	at        map[place]int // their numbers
-	longest   int           // bytes of a path
+	at        map[place]int  // their numbers
+	longest   map[string]int // by their names: how many bytes a path of theirs has at most
 }
 
 func definitionsOf(l []Placed) definitions {
-	d := definitions{sentences: l, at: map[place]int{}}
+	d := definitions{sentences: l, at: map[place]int{}, longest: map[string]int{}}
 	for i, p := range l {
 		if p.Sentence.Kind != define {
 			continue
 		}
-		d.longest = max(d.longest, len(p.Path))
-		key := place{p.Path, p.Sentence.Name}
+		name := p.Sentence.Name
+		d.longest[name] = max(d.longest[name], len(p.Path))
+		key := place{p.Path, name}
 		if other, there := d.at[key]; !there || l[other].Line <= p.Line {
 			d.at[key] = i
 		}
@@ -60,9 +61,13 @@ func definitionsOf(l []Placed) definitions {
 
 // find is the definition of a name in the provision at a path: the innermost one around it.
 func (d definitions) find(path, name string) (Placed, bool) {
+	longest, there := d.longest[name]
+	if !there {
+		return Placed{}, false
+	}
 	// A path that is handed over may have any number of labels: those that no definition has are left out at once.
-	if len(path) > d.longest {
-		path = around(path[:d.longest+1])
+	if len(path) > longest {
+		path = around(path[:longest+1])
 	}
 	for {
 		if i, there := d.at[place{path, name}]; there {

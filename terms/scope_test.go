@@ -373,6 +373,25 @@ func TestP63WhatMeansItselfStandsBehindVeryMuch(t *testing.T) {
 	}
 }
 
+func TestP1ManyNamesInAVeryDeepProvision(t *testing.T) {
+	path := "1" + strings.Repeat("/1", 5000)
+	placed := []Placed{
+		{Path: path, Sentence: Sentence{Kind: "define", Name: "x", If: named("y")}},
+		{Sentence: Sentence{Kind: "define", Name: "u", If: named("u")}},
+	}
+	n := node("or")
+	for i := range 100000 {
+		n.Kids = append(n.Kids, named("x"), named("n"+strconv.Itoa(i)))
+	}
+	if _, err := Opened(placed, path+"/1", n); err != api.ErrBound {
+		t.Errorf("%v", err)
+	}
+	n.Kids = append(n.Kids, named("u"))
+	if _, err := Opened(placed, path, n); err != api.ErrOrder {
+		t.Errorf("%v", err)
+	}
+}
+
 func TestP63AllOfLongPaths(t *testing.T) {
 	var l api.Item
 	long := strings.Repeat("a", 1000000)
