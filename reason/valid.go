@@ -1,0 +1,75 @@
+package reason
+
+import (
+	"slices"
+
+	"statute/api"
+)
+
+// maxPairs is how many pairs of rules a theory has at most.
+const maxPairs = 10 * api.MaxRules
+
+// Valid theory?
+func Valid(t Theory) error {
+	// Each looks only at what those ahead of it have found to be right.
+	switch {
+	case !t.isInBounds():
+		return api.ErrBound
+	case slices.ContainsFunc(t.Rules, hasNoKind):
+		return api.ErrKind
+	case !t.hasNames():
+		return api.ErrName
+	case !t.isOrdered():
+		return api.ErrOrder
+	}
+	return nil
+}
+
+func (t Theory) isInBounds() bool {
+	if t.Names < 0 || t.Names > api.MaxNames || len(t.Rules) > api.MaxRules || len(t.Over) > maxPairs {
+		return false
+	}
+	return !slices.ContainsFunc(t.Rules, func(r Rule) bool { return len(r.Body) > api.MaxNames })
+}
+
+func hasNoKind(r Rule) bool {
+	return r.Kind != api.Strict && r.Kind != api.Defeasible && r.Kind != api.Defeater
+}
+
+// hasNames tells whether all literals, and all numbers of rules, are some of the theory's.
+func (t Theory) hasNames() bool {
+	noLiteral := func(q int) bool { return q == 0 || q < -t.Names || q > t.Names }
+	noRule := func(i int) bool { return i < 0 || i >= len(t.Rules) }
+	for _, r := range t.Rules {
+		if noLiteral(r.Head) || slices.ContainsFunc(r.Body, noLiteral) {
+			return false
+		}
+	}
+	return !slices.ContainsFunc(t.Over, func(pair [2]int) bool { return noRule(pair[0]) || noRule(pair[1]) })
+}
+
+// isOrdered tells whether no rule is above itself: then all can be laid aside one by one, each when none is left above it.
+func (t Theory) isOrdered() bool {
+	left := make([]int, len(t.Rules)) // how many are above a rule
+	below := make([][]int, len(t.Rules))
+	for _, pair := range t.Over {
+		left[pair[1]]++
+		below[pair[0]] = append(below[pair[0]], pair[1])
+	}
+	var aside []int
+	layAside := func(rule int) {
+		if left[rule] == 0 {
+			aside = append(aside, rule)
+		}
+	}
+	for rule := range len(t.Rules) {
+		layAside(rule)
+	}
+	for next := 0; next < len(aside); next++ {
+		for _, rule := range below[aside[next]] {
+			left[rule]--
+			layAside(rule)
+		}
+	}
+	return len(aside) == len(t.Rules)
+}
