@@ -1,30 +1,41 @@
 package reason
 
-// claim is one of the four things that are shown of literals: SURE (says) or NOT SURE; where sure is false, HOLDS (says) or FAILS.
-type claim struct {
-	sure, says bool
-	literal    int
+// Claim is one of the four things that are shown of literals: Sure: SURE (Says) or NOT SURE; else HOLDS (Says) or FAILS.
+type Claim struct {
+	Sure, Says bool
+	Literal    int
 }
 
-// follow tells what follows of a valid theory: each claim once, behind those that it follows from.
-func follow(t Theory, tell func(claim)) {
+// Follow tells what follows of a theory: each claim once, behind those that it follows from, which are told with it. Valid's errors.
+func Follow(t Theory, tell func(c Claim, from []Claim)) error {
+	if err := Valid(t); err != nil {
+		return err
+	}
+	follow(t, tell)
+	return nil
+}
+
+// follow is Follow for a theory that is known to be valid.
+func follow(t Theory, tell func(c Claim, from []Claim)) {
 	literals := literalsOf(t)
 	more := false
-	show := func(c claim) {
-		q := &literals[place(c.literal)]
-		if q.isSettled(c.sure) || !q.follows(c) {
+	show := func(c Claim) {
+		q := &literals[place(c.Literal)]
+		if q.isSettled(c.Sure) {
 			return
 		}
-		q.take(c)
-		tell(c)
-		more = true
+		if from, ok := q.from(c); ok {
+			q.take(c)
+			tell(c, from)
+			more = true
+		}
 	}
 	showBoth := func(of int) {
 		for _, q := range [...]int{of, -of} {
-			show(claim{true, true, q})
-			show(claim{true, false, q})
-			show(claim{false, true, q})
-			show(claim{false, false, q})
+			show(Claim{true, true, q})
+			show(Claim{true, false, q})
+			show(Claim{false, true, q})
+			show(Claim{false, false, q})
 		}
 	}
 	// Names that no rule is about are settled by this alone.
@@ -37,4 +48,26 @@ func follow(t Theory, tell func(claim)) {
 			showBoth(t.Rules[rule].Head)
 		}
 	}
+}
+
+// Right tells whether each claim of a list follows from those ahead of it alone; of a literal that is none, nothing does. Valid's errors.
+func Right(t Theory, claims []Claim) (bool, error) {
+	if err := Valid(t); err != nil {
+		return false, err
+	}
+	literals := literalsOf(t)
+	for _, c := range claims {
+		if t.hasNot(c.Literal) {
+			return false, nil
+		}
+		q := &literals[place(c.Literal)]
+		if q.has(c) {
+			continue
+		}
+		if _, ok := q.from(c); !ok {
+			return false, nil
+		}
+		q.take(c)
+	}
+	return true, nil
 }

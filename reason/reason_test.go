@@ -117,10 +117,10 @@ func TestP81Open(t *testing.T) {
 // shown is what a slow search has shown, by the four sentences of P81 as they stand.
 type shown struct {
 	theory Theory
-	is     map[claim]int
+	is     map[Claim]int
 }
 
-func (s *shown) has(sure, says bool, q int) bool { return s.is[claim{sure, says, q}] == 1 }
+func (s *shown) has(sure, says bool, q int) bool { return s.is[Claim{sure, says, q}] == 1 }
 
 func (s *shown) every(r Rule, sure, says bool) bool {
 	for _, q := range r.Body {
@@ -146,8 +146,8 @@ func (s *shown) rulesFor(q int, kinds ...int) []int {
 	return list
 }
 
-func (s *shown) canShow(c claim) bool {
-	q, rules := c.literal, s.theory.Rules
+func (s *shown) canShow(c Claim) bool {
+	q, rules := c.Literal, s.theory.Rules
 	strict := s.rulesFor(q, api.Strict)
 	carrying := s.rulesFor(q, api.Strict, api.Defeasible)
 	opposed := s.rulesFor(-q, api.Strict, api.Defeasible, api.Defeater)
@@ -160,11 +160,11 @@ func (s *shown) canShow(c claim) bool {
 		return !slices.ContainsFunc(list, func(i int) bool { return !is(i) })
 	}
 	switch {
-	case c.sure && c.says:
+	case c.Sure && c.Says:
 		return slices.ContainsFunc(strict, func(i int) bool { return s.every(rules[i], true, true) })
-	case c.sure:
+	case c.Sure:
 		return all(strict, func(i int) bool { return s.one(rules[i], true, false) })
-	case c.says:
+	case c.Says:
 		return s.has(true, true, q) || s.has(true, false, -q) && slices.ContainsFunc(carrying, holds) &&
 			all(opposed, func(k int) bool { return fails(k) || slices.ContainsFunc(above(k), holds) })
 	}
@@ -174,11 +174,11 @@ func (s *shown) canShow(c claim) bool {
 
 // slowly is what follows of a theory, found in an order that is thrown.
 func slowly(theory Theory, rng *rand.Rand) Known {
-	s := &shown{theory, map[claim]int{}}
-	var all []claim
+	s := &shown{theory, map[Claim]int{}}
+	var all []Claim
 	for q := 1; q <= theory.Names; q++ {
 		for i := range 8 {
-			all = append(all, claim{i&1 == 0, i&2 == 0, q - 2*q*(i>>2)})
+			all = append(all, Claim{i&1 == 0, i&2 == 0, q - 2*q*(i>>2)})
 		}
 	}
 	for more := true; more; {
@@ -192,14 +192,14 @@ func slowly(theory Theory, rng *rand.Rand) Known {
 	}
 	k := Known{make([]int, 2*theory.Names), make([]int, 2*theory.Names)}
 	for c := range s.is {
-		list, at, what := k.Holds, 2*max(c.literal, -c.literal)-2, no
-		if c.sure {
+		list, at, what := k.Holds, 2*max(c.Literal, -c.Literal)-2, no
+		if c.Sure {
 			list = k.Sure
 		}
-		if c.literal < 0 {
+		if c.Literal < 0 {
 			at++
 		}
-		if c.says {
+		if c.Says {
 			what = yes
 		}
 		list[at] += what // 3, if both were shown
@@ -264,13 +264,36 @@ func TestP81ToldOnceAndInOrder(t *testing.T) {
 	rng := rand.New(rand.NewSource(8))
 	for range 5000 {
 		theory := thrown(rng)
-		s := &shown{theory, map[claim]int{}}
-		follow(theory, func(c claim) {
-			if s.is[c] != 0 || !s.canShow(c) {
-				t.Fatalf("%+v: %+v is told too early, or again", theory, c)
+		s := &shown{theory, map[Claim]int{}}
+		err := Follow(theory, func(c Claim, from []Claim) {
+			if s.is[c] != 0 {
+				t.Fatalf("%+v: %+v is told again", theory, c)
+			}
+			alone := &shown{theory, map[Claim]int{}}
+			for _, f := range from {
+				if s.is[f] == 0 {
+					t.Fatalf("%+v: %+v is told ahead of %+v", theory, c, f)
+				}
+				alone.is[f] = 1
+			}
+			if !alone.canShow(c) {
+				t.Fatalf("%+v: %+v does not follow from %+v alone", theory, c, from)
 			}
 			s.is[c] = 1
 		})
+		if err != nil {
+			t.Fatalf("%+v: %v", theory, err)
+		}
+	}
+}
+
+func TestP80OfWhatIsTold(t *testing.T) {
+	wrong := Theory{Names: -1}
+	if err := Follow(wrong, func(Claim, []Claim) { t.Error("something is told") }); err != api.ErrBound {
+		t.Error(err)
+	}
+	if ok, err := Right(wrong, nil); ok || err != api.ErrBound {
+		t.Error(ok, err)
 	}
 }
 

@@ -38,14 +38,18 @@ func hasNoKind(r Rule) bool {
 
 // hasNames tells whether all literals, and all numbers of rules, are some of the theory's.
 func (t Theory) hasNames() bool {
-	noLiteral := func(q int) bool { return q == 0 || q < -t.Names || q > t.Names }
 	noRule := func(i int) bool { return i < 0 || i >= len(t.Rules) }
 	for _, r := range t.Rules {
-		if noLiteral(r.Head) || slices.ContainsFunc(r.Body, noLiteral) {
+		if t.hasNot(r.Head) || slices.ContainsFunc(r.Body, t.hasNot) {
 			return false
 		}
 	}
 	return !slices.ContainsFunc(t.Over, func(pair [2]int) bool { return noRule(pair[0]) || noRule(pair[1]) })
+}
+
+// hasNot tells whether a number is none of the theory's literals.
+func (t Theory) hasNot(literal int) bool {
+	return literal == none || literal < -t.Names || literal > t.Names
 }
 
 // isOrdered tells whether no rule is above itself: then all can be laid aside one by one, each when none is left above it.
