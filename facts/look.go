@@ -10,30 +10,21 @@ import (
 
 // Holds: the truth of a condition.
 func (f *File) Holds(n terms.Node, who, on, known int) (bool, error) {
-	value, err := f.look(on, known).find(ask{node: &n, who: who})
-	return value == 1, err
+	return f.View(on, known).Holds(n, who)
 }
 
 // Sum of a node.
 func (f *File) Sum(n terms.Node, who, on, known int) (int, error) {
-	return f.look(on, known).find(ask{node: &n, who: who, sum: true})
+	return f.View(on, known).Sum(n, who)
 }
 
-// look is a look into a file on a day, as known on a day.
+// look is a look for what a node is worth.
 type look struct {
-	file      *File
-	on, known int
-	worth     func(name string, who int) int // what a name is worth
-	met       map[ask]answer
-	open      []question // each stands in the one ahead of it
-}
-
-func (f *File) look(on, known int) *look {
-	worth := func(name string, who int) int {
-		value, _ := f.Value(who, name, on, known)
-		return value
-	}
-	return &look{file: f, on: on, known: known, worth: worth, met: map[ask]answer{}}
+	view  *View
+	worth func(name string, who int) (int, error) // what a name is worth
+	way   int                                     // how parts are rounded
+	met   map[ask]answer
+	open  []question // each stands in the one ahead of it
 }
 
 // ask is what a node is worth of somebody: a sum its value; a condition 1, if it holds, else 0.
@@ -59,7 +50,7 @@ type question struct {
 
 // find what is asked for. Nodes may lie deeper within each other than calls can, so what is open stands in a list.
 func (l *look) find(first ask) (int, error) {
-	if !isPerson(first.who) || !day.IsDay(l.on) || !day.IsDay(l.known) {
+	if !IsPerson(first.who) || !day.IsDay(l.view.on) || !day.IsDay(l.view.known) {
 		return 0, api.ErrKind
 	}
 	err := l.begin(first)
@@ -73,7 +64,7 @@ func (l *look) find(first ask) (int, error) {
 }
 
 // begin to look for something.
-func (l *look) begin(a ask) error {
+func (l *look) begin(a ask) (err error) {
 	if !a.isRight() {
 		return api.ErrKind
 	}
@@ -82,7 +73,9 @@ func (l *look) begin(a ask) error {
 	case some, every:
 		q.of = l.others(a.node.Word, a.who)
 	case nameKind, numberKind, count, total:
-		q.value = l.told(a)
+		if q.value, err = l.told(a); err != nil {
+			return err
+		}
 	default:
 		q.of = slices.Repeat([]int{a.who}, len(a.node.Kids))
 	}
@@ -111,33 +104,30 @@ func (l *look) goOn() error {
 		// What hangs on itself has no end, as a list lies within itself: no such node.
 		return api.ErrKind
 	}
-	return q.hear(got.value)
+	return q.hear(got.value, l.way)
 }
 
 // others who stand to somebody so.
-func (l *look) others(word string, who int) []int {
-	return l.file.Others(who, word, l.on, l.known)
-}
+func (l *look) others(word string, who int) []int { return l.view.entry(who, word).others }
 
 // told is what a node is worth that has no kids to be asked.
-func (l *look) told(a ask) int {
+func (l *look) told(a ask) (int, error) {
 	n := a.node
 	switch n.Kind {
 	case numberKind:
-		return n.N
+		return n.N, nil
 	case count:
-		return hundredths * len(l.others(n.Word, a.who))
+		return hundredths * len(l.others(n.Word, a.who)), nil
 	case total:
 		sum := 0
 		for _, other := range l.others(n.Kids[0].Word, a.who) {
-			value, _ := l.file.Value(other, n.Word, l.on, l.known)
-			sum += value
+			sum += l.view.Value(other, n.Word)
 		}
-		return sum
+		return sum, nil
 	}
-	value := l.worth(n.Word, a.who)
-	if a.sum {
-		return value
+	value, err := l.worth(n.Word, a.who)
+	if err == nil && !a.sum {
+		value = truth(value != 0)
 	}
-	return truth(value != 0)
+	return value, err
 }

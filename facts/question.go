@@ -18,8 +18,8 @@ func (q *question) next() ask {
 	}
 }
 
-// hear what the next one is worth.
-func (q *question) hear(value int) error {
+// hear what the next one is worth; way: how parts are rounded.
+func (q *question) hear(value, way int) error {
 	q.heard++
 	switch q.node.Kind {
 	case or, some:
@@ -29,18 +29,18 @@ func (q *question) hear(value int) error {
 	case not:
 		q.value = 1 - value
 	case times:
-		return q.hearTimes(value)
+		return q.hearTimes(value, way)
 	default:
 		q.hearOneOfTwo(value)
 	}
 	return q.checkSize()
 }
 
-func (q *question) hearTimes(value int) (err error) {
+func (q *question) hearTimes(value, way int) (err error) {
 	if q.node.N < 0 || q.node.N > api.MaxRate {
 		return api.ErrKind
 	}
-	q.value, err = coin.Part(value, q.node.N, api.HalfUp)
+	q.value, err = coin.Part(value, q.node.N, way)
 	return err
 }
 

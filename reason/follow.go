@@ -20,7 +20,7 @@ func follow(t Theory, tell func(c Claim, from []Claim)) {
 	literals := literalsOf(t)
 	more := false
 	show := func(c Claim) {
-		q := &literals[place(c.Literal)]
+		q := &literals[Place(c.Literal)]
 		if q.isSettled(c.Sure) {
 			return
 		}
@@ -60,7 +60,7 @@ func Right(t Theory, claims []Claim) (bool, error) {
 		if t.hasNot(c.Literal) {
 			return false, nil
 		}
-		q := &literals[place(c.Literal)]
+		q := &literals[Place(c.Literal)]
 		if q.has(c) {
 			continue
 		}

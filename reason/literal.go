@@ -27,17 +27,17 @@ type standing struct {
 func literalsOf(t Theory) []literal {
 	literals := make([]literal, 2*t.Names)
 	for name := range t.Names {
-		yes, no := &literals[place(name+1)], &literals[place(-name-1)]
+		yes, no := &literals[Place(name+1)], &literals[Place(-name-1)]
 		yes.itself, no.itself = name+1, -name-1
 		yes.opposite, no.opposite = no, yes
 	}
 	rules := make([]standing, len(t.Rules))
 	for i, r := range t.Rules {
 		rules[i] = standing{kind: r.Kind, body: r.Body, unsure: len(r.Body), unheld: len(r.Body)}
-		head := &literals[place(r.Head)]
+		head := &literals[Place(r.Head)]
 		head.rules = append(head.rules, &rules[i])
 		for _, part := range r.Body {
-			q := &literals[place(part)]
+			q := &literals[Place(part)]
 			q.within = append(q.within, &rules[i])
 		}
 	}

@@ -369,3 +369,11 @@ func TestP4OnlyReadAndNewMemory(t *testing.T) {
 		}
 	}
 }
+
+func TestP81PlacesOfLiterals(t *testing.T) {
+	for literal, want := range map[int]int{1: 0, -1: 1, 2: 2, -2: 3, api.MaxNames: 2*api.MaxNames - 2, -api.MaxNames: 2*api.MaxNames - 1} {
+		if got := Place(literal); got != want {
+			t.Errorf("%d: %d; want %d", literal, got, want)
+		}
+	}
+}

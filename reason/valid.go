@@ -4,6 +4,7 @@ import (
 	"slices"
 
 	"statute/api"
+	"statute/order"
 )
 
 // maxPairs is how many pairs of rules a theory has at most.
@@ -52,28 +53,8 @@ func (t Theory) hasNot(literal int) bool {
 	return literal == none || literal < -t.Names || literal > t.Names
 }
 
-// isOrdered tells whether no rule is above itself: then all can be laid aside one by one, each when none is left above it.
+// isOrdered tells whether no rule is above itself.
 func (t Theory) isOrdered() bool {
-	left := make([]int, len(t.Rules)) // how many are above a rule
-	below := make([][]int, len(t.Rules))
-	for _, pair := range t.Over {
-		left[pair[1]]++
-		below[pair[0]] = append(below[pair[0]], pair[1])
-	}
-	var aside []int
-	layAside := func(rule int) {
-		if left[rule] == 0 {
-			aside = append(aside, rule)
-		}
-	}
-	for rule := range len(t.Rules) {
-		layAside(rule)
-	}
-	for next := 0; next < len(aside); next++ {
-		for _, rule := range below[aside[next]] {
-			left[rule]--
-			layAside(rule)
-		}
-	}
-	return len(aside) == len(t.Rules)
+	_, ok := order.Of(len(t.Rules), t.Over)
+	return ok
 }

@@ -5,17 +5,35 @@ import (
 	"statute/tree"
 )
 
-// opener puts definitions into conditions.
-type opener struct {
+// Scope is what names mean among sentences, for conditions that are opened one after the other: what it has looked through once it knows. Until it is done the sentences must stay as they are.
+type Scope struct {
 	definitions
-	states map[place]int // of the definitions that were met
-	room   int           // for nodes
+	states map[place]int     // of the definitions that were met
+	ends   map[place]meaning // of those that were followed
+	room   int               // for nodes
+}
+
+// ScopeOf sentences.
+func ScopeOf(l []Placed) *Scope {
+	return &Scope{definitions: definitionsOf(l), states: map[place]int{}, ends: map[place]meaning{}}
+}
+
+// Opened: a condition at a path with all names that are defined put in.
+func (s *Scope) Opened(path string, n Node) (opened Node, err error) {
+	defer func() {
+		if x := recover(); x != nil {
+			opened, err = Node{}, caught(x)
+		}
+	}()
+	s.search(path, n)
+	s.room = maxOpened
+	return s.open(path, n), nil
 }
 
 // States of a definition.
 const (
 	notMet = iota
-	isOpen // it is being looked through
+	isOpen // it is being looked through, or was when something that means itself was found in it
 	isDone
 )
 
@@ -26,27 +44,30 @@ type searched struct {
 }
 
 // search throws ErrOrder, if a name in a condition at a path means itself. A condition that is too great may hide that, so it is looked for first.
-func (o *opener) search(path string, n Node) {
+func (s *Scope) search(path string, n Node) {
 	open := []searched{{place{path}, namesOf(n)}}
 	for len(open) > 0 {
 		top := &open[len(open)-1]
 		if len(top.names) == 0 {
-			o.states[top.at] = isDone
 			open = open[:len(open)-1]
+			// The first one is no definition's.
+			if len(open) > 0 {
+				s.states[top.at] = isDone
+			}
 			continue
 		}
 		name := top.names[0]
 		top.names = top.names[1:]
-		d, there := o.find(top.at[0], name)
+		d, there := s.find(top.at[0], name)
 		if !there {
 			continue
 		}
 		key := place{d.Path, name}
-		switch o.states[key] {
+		switch s.states[key] {
 		case isOpen:
 			throw(api.ErrOrder)
 		case notMet:
-			o.states[key] = isOpen
+			s.states[key] = isOpen
 			open = append(open, searched{key, namesOf(d.Sentence.If)})
 		}
 	}
@@ -83,29 +104,51 @@ func isOfConditions(kind string) bool {
 }
 
 // open is a condition at a path, with all names that are defined put in.
-func (o *opener) open(path string, n Node) Node {
+func (s *Scope) open(path string, n Node) Node {
+	path, n = s.end(path, n)
+	if !isOfConditions(n.Kind) {
+		return s.keep(n)
+	}
+	return s.each(n, func(kid Node) Node { return s.open(path, kid) })
+}
+
+// meaning is a condition, and where it stands.
+type meaning struct {
+	path string
+	node Node
+}
+
+// end is what a condition at a path comes to, from name to name, and where that stands. It is kept: many names may come by the same long way.
+func (s *Scope) end(path string, n Node) (string, Node) {
+	var way []place
 	for n.Kind == nameKind {
-		d, there := o.find(path, n.Word)
+		d, there := s.find(path, n.Word)
 		if !there {
 			break
 		}
+		key := place{d.Path, n.Word}
+		if m, known := s.ends[key]; known {
+			path, n = m.path, m.node
+			break
+		}
+		way = append(way, key)
 		path, n = d.Path, d.Sentence.If
 	}
-	if !isOfConditions(n.Kind) {
-		return o.keep(n)
+	for _, key := range way {
+		s.ends[key] = meaning{path, n}
 	}
-	return o.each(n, func(kid Node) Node { return o.open(path, kid) })
+	return path, n
 }
 
 // keep is a node as it is.
-func (o *opener) keep(n Node) Node { return o.each(n, o.keep) }
+func (s *Scope) keep(n Node) Node { return s.each(n, s.keep) }
 
 // each is a node with what becomes of each of its kids.
-func (o *opener) each(n Node, become func(kid Node) Node) Node {
-	if o.room == 0 {
+func (s *Scope) each(n Node, become func(kid Node) Node) Node {
+	if s.room == 0 {
 		throw(api.ErrBound)
 	}
-	o.room--
+	s.room--
 	var kids []Node
 	for _, kid := range n.Kids {
 		kids = append(kids, become(kid))
