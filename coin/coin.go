@@ -12,14 +12,29 @@ type Band struct{ From, Rate int }
 
 // Part of an amount by a rate.
 func Part(amount, rate, way int) (int, error) {
-	if !isWay(way) {
+	if !IsWay(way) {
 		return 0, api.ErrKind
 	}
-	if !sized(amount, api.MaxCoin) || !sized(rate, api.MaxRate) {
+	if !IsAmount(amount) || !sized(rate, api.MaxRate) {
 		return 0, api.ErrCoin
 	}
 	answer := rounded(amount*rate, fullRate, way)
-	if !sized(answer, api.MaxCoin) {
+	if !IsAmount(answer) {
+		return 0, api.ErrCoin
+	}
+	return answer, nil
+}
+
+// Over is one of so many equal parts of a total, which may be greater than an amount. ErrKind: no such way (told first); ErrCoin: no such number of parts, or an answer that is too great.
+func Over(total, parts, way int) (int, error) {
+	if !IsWay(way) {
+		return 0, api.ErrKind
+	}
+	if parts < 1 {
+		return 0, api.ErrCoin
+	}
+	answer := rounded(total, parts, way)
+	if !IsAmount(answer) {
 		return 0, api.ErrCoin
 	}
 	return answer, nil
@@ -27,7 +42,7 @@ func Part(amount, rate, way int) (int, error) {
 
 // Bands of an amount, together.
 func Bands(amount int, l []Band, way int) (int, error) {
-	if !isWay(way) {
+	if !IsWay(way) {
 		return 0, api.ErrKind
 	}
 	wrong := func(b Band) bool { return !upTo(b.From, api.MaxCoin) || !upTo(b.Rate, api.MaxRate) }
@@ -69,6 +84,9 @@ func rising(l []Band) bool {
 	}
 	return true
 }
+
+// IsAmount tells whether a number is an amount.
+func IsAmount(n int) bool { return sized(n, api.MaxCoin) }
 
 // sized tells whether a number is of at most that size, below 0 or above.
 func sized(n, most int) bool { return -most <= n && n <= most }

@@ -126,6 +126,32 @@ func TestP11PartRefuses(t *testing.T) {
 	}
 }
 
+func TestP110Over(t *testing.T) {
+	sums := []int{0, 1, 2, 13, 14, 15, 16, 45, 31 * api.MaxCoin, 31*api.MaxCoin + 15, 31*api.MaxCoin + 16, math.MaxInt}
+	for _, sum := range sums {
+		for _, parts := range []int{1, 2, 28, 29, 30, 31, math.MaxInt/2 + 1, math.MaxInt - 1, math.MaxInt} {
+			for _, way := range allWays {
+				for _, n := range []int{sum, -sum, -sum - 1} {
+					got, err := Over(n, parts, way)
+					checkAnswer(t, []any{"Over", n, parts, way}, got, err, expected(big.NewRat(int64(n), int64(parts)), way))
+				}
+			}
+		}
+	}
+	for _, way := range noWays {
+		if n, err := Over(1, 0, way); n != 0 || err != api.ErrKind || IsWay(way) {
+			t.Errorf("way %d: %d, %v", way, n, err)
+		}
+	}
+	for _, parts := range []int{0, -1, math.MinInt} {
+		for _, way := range allWays {
+			if n, err := Over(0, parts, way); n != 0 || err != api.ErrCoin || !IsWay(way) {
+				t.Errorf("%d parts, way %d: %d, %v", parts, way, n, err)
+			}
+		}
+	}
+}
+
 // centByCent is what bands take of an amount: of each cent the rate of the last band that it lies above.
 func centByCent(amount int, l []Band) *big.Rat {
 	sum := int64(0)

@@ -5,8 +5,8 @@ import "statute/api"
 // fullRate is the rate that is all of an amount.
 const fullRate = 10000
 
-// isWay tells whether package api has such a way of rounding.
-func isWay(way int) bool { return api.Down <= way && way <= api.HalfEven }
+// IsWay tells whether package api has such a way of rounding.
+func IsWay(way int) bool { return api.Down <= way && way <= api.HalfEven }
 
 // rounded is n over parts (which is above 0), by a way of package api.
 func rounded(n, parts, way int) int {
@@ -26,6 +26,8 @@ func rounded(n, parts, way int) int {
 
 // leavesZero tells whether a way takes the number farther from 0 of the two around near and rest over parts; rest is told without its sign, which is step.
 func leavesZero(near, rest, parts, step, way int) bool {
+	// Twice the rest could be too great a number.
+	other := parts - rest
 	switch way {
 	case api.Up:
 		return true
@@ -34,9 +36,9 @@ func leavesZero(near, rest, parts, step, way int) bool {
 	case api.Ceil:
 		return step > 0
 	case api.HalfUp:
-		return 2*rest >= parts
+		return rest >= other
 	case api.HalfEven:
-		return 2*rest > parts || 2*rest == parts && near%2 != 0
+		return rest > other || rest == other && near%2 != 0
 	}
 	return false
 }

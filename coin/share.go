@@ -13,7 +13,7 @@ func Share(total int, weights []int) ([]int, error) {
 		return nil, api.ErrBound
 	}
 	wrong := func(w int) bool { return !upTo(w, api.MaxRate) }
-	if !sized(total, api.MaxCoin) || slices.ContainsFunc(weights, wrong) {
+	if !IsAmount(total) || slices.ContainsFunc(weights, wrong) {
 		return nil, api.ErrCoin
 	}
 	all := sum(weights)

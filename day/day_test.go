@@ -170,3 +170,21 @@ func TestP21MonthsTellWhatIsNoDay(t *testing.T) {
 		checkBare(t, c, n, err, api.ErrDay)
 	}
 }
+
+func TestP110MonthEnd(t *testing.T) {
+	end := 0
+	for day := api.MaxDay; day >= 1; day-- {
+		_, month, _ := Parts(day)
+		if _, next, _ := Parts(day + 1); month != next {
+			end = day
+		}
+		if got := MonthEnd(day); got != end {
+			t.Fatalf("MonthEnd(%d): %d; want %d", day, got, end)
+		}
+	}
+	for _, day := range noDays {
+		if got := MonthEnd(day); got != 0 {
+			t.Errorf("MonthEnd(%d): %d", day, got)
+		}
+	}
+}

@@ -20,7 +20,13 @@ type step struct {
 	note Note     // why the act was left out; zero: it was not
 }
 
-func (b *Book) course() *course { return &course{first: b.law} }
+// course from a book's first law on; a book that is none has no law.
+func (b *Book) course() *course {
+	if b == nil {
+		return &course{}
+	}
+	return &course{first: b.law}
+}
 
 // law at the end of a course.
 func (c *course) law() api.Item {

@@ -462,6 +462,42 @@ func checkPast(t *testing.T, b *Book, path string, known, last int) {
 	}
 }
 
+func TestP51AViewOfManyDays(t *testing.T) {
+	const last = 24
+	r := rand.New(rand.NewSource(51))
+	for range 100 {
+		b := someBook(t, r, last)
+		for known := range last {
+			v := b.View(known)
+			for range 2 * last {
+				on := r.Intn(2 * last)
+				c := b.course()
+				want, wantNotes, wantOK := api.Item{}, []Note(nil), on >= b.day && known > 0
+				if wantOK {
+					c.follow(b.actsAt(on, known))
+					want, wantNotes = c.law(), c.notes()
+				}
+				l, notes, ok := v.At(on)
+				if ok != wantOK || !same(l, want) || !slices.Equal(notes, wantNotes) {
+					t.Fatalf("on %d, as known on %d: %v, %v, %v; want %v, %v, %v", on, known, l, notes, ok, want, wantNotes, wantOK)
+				}
+				blot(l)
+			}
+		}
+	}
+	for _, on := range []int{0, -1, api.MaxDay + 1, math.MinInt, math.MaxInt} {
+		if l, notes, ok := bookOf(t).View(100).At(on); ok || notes != nil || !same(l, api.Item{}) {
+			t.Errorf("on %d: %v", on, l)
+		}
+		if l, notes, ok := bookOf(t).View(on).At(100); ok || notes != nil || !same(l, api.Item{}) {
+			t.Errorf("as known on %d: %v", on, l)
+		}
+	}
+	if _, _, ok := (*Book)(nil).View(1).At(1); ok {
+		t.Error("there is a law")
+	}
+}
+
 func TestP1BooksThatAreNone(t *testing.T) {
 	for _, b := range []*Book{nil, {}} {
 		if l, notes, ok := b.At(1, 1); b == nil && (ok || notes != nil || len(l.Kids) > 0) {
