@@ -22,7 +22,10 @@ func (c *Calendar) Works(day int) bool {
 }
 
 // Roll a day to a working one.
-func (c *Calendar) Roll(day, how int) (int, error) {
+func (c *Calendar) Roll(day, how int) (int, error) { return roll(day, how, c.plan) }
+
+// roll does what Roll does; the plan is asked for only where it counts, as it may cost a sort.
+func roll(day, how int, ready func() plan) (int, error) {
 	if !isRoll(how) {
 		return 0, api.ErrKind
 	}
@@ -31,15 +34,18 @@ func (c *Calendar) Roll(day, how int) (int, error) {
 	}
 	switch how {
 	case api.Next:
-		return c.plan().later(day, 1)
+		return ready().later(day, 1)
 	case api.Before:
-		return c.plan().earlier(day, 1)
+		return ready().earlier(day, 1)
 	}
 	return day, nil
 }
 
 // Add working days.
-func (c *Calendar) Add(day, n int) (int, error) {
+func (c *Calendar) Add(day, n int) (int, error) { return add(day, n, c.plan) }
+
+// add does what Add does; the plan is asked for only where it counts.
+func add(day, n int, ready func() plan) (int, error) {
 	if n < -api.MaxTerm || n > api.MaxTerm {
 		return 0, api.ErrBound
 	}
@@ -47,10 +53,10 @@ func (c *Calendar) Add(day, n int) (int, error) {
 		return 0, api.ErrDay
 	}
 	if n > 0 {
-		return c.plan().later(day+1, n)
+		return ready().later(day+1, n)
 	}
 	if n < 0 {
-		return c.plan().earlier(day-1, -n)
+		return ready().earlier(day-1, -n)
 	}
 	return day, nil
 }

@@ -14,7 +14,21 @@ type Term struct{ N, Unit, Roll int }
 const rollMark = ", "
 
 // Due: the day on which a term is over.
-func (c *Calendar) Due(start int, t Term) (int, error) {
+func (c *Calendar) Due(start int, t Term) (int, error) { return due(start, t, c.plan) }
+
+// Plan is a calendar made ready for many terms: its holidays are sorted once, and not for each.
+type Plan struct{ ready plan }
+
+// Plan of a calendar, as it is now.
+func (c *Calendar) Plan() *Plan { return &Plan{ready: c.plan()} }
+
+// Due is what Due of the calendar is.
+func (p *Plan) Due(start int, t Term) (int, error) {
+	return due(start, t, func() plan { return p.ready })
+}
+
+// due does what Due does, by a plan that is asked for only where it counts.
+func due(start int, t Term, ready func() plan) (int, error) {
 	if t.N < 0 || t.N > api.MaxTerm {
 		return 0, api.ErrBound
 	}
@@ -24,18 +38,18 @@ func (c *Calendar) Due(start int, t Term) (int, error) {
 	if !IsDay(start) {
 		return 0, api.ErrDay
 	}
-	end, err := c.end(start, t)
+	end, err := termEnd(start, t, ready)
 	if err != nil {
 		return 0, err
 	}
-	return c.Roll(end, t.Roll)
+	return roll(end, t.Roll, ready)
 }
 
-// end is the day a term's units behind start, not yet rolled; it may be no day.
-func (c *Calendar) end(start int, t Term) (int, error) {
+// termEnd is the day a term's units behind start, not yet rolled; it may be no day.
+func termEnd(start int, t Term, ready func() plan) (int, error) {
 	switch t.Unit {
 	case api.Working:
-		return c.Add(start, t.N)
+		return add(start, t.N, ready)
 	case api.Weeks:
 		return start + daysOfWeek*t.N, nil
 	case api.Months:

@@ -2,6 +2,7 @@ package day
 
 import (
 	"math"
+	"math/rand"
 	"strings"
 	"testing"
 
@@ -129,4 +130,24 @@ func FuzzP24WhatIsReadIsWrittenTheSame(f *testing.F) {
 			t.Errorf("%q is written as %q", text, TermText(term))
 		}
 	})
+}
+
+func TestP23APlanIsTheCalendarAsItWas(t *testing.T) {
+	r := rand.New(rand.NewSource(23))
+	for range 2000 {
+		start := someDay(r)
+		c := someCalendar(r, start)
+		if r.Intn(9) == 0 {
+			c = nil
+		}
+		p := c.Plan()
+		term := Term{N: r.Intn(30) - 1, Unit: r.Intn(6), Roll: r.Intn(4)}
+		want, wantErr := c.Due(start, term)
+		if c != nil {
+			clear(c.Holidays)
+		}
+		if n, err := p.Due(start, term); n != want || err != wantErr {
+			t.Fatalf("Due(%d, %+v) of a plan: %d, %v; want %d, %v", start, term, n, err, want, wantErr)
+		}
+	}
 }
