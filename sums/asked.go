@@ -11,23 +11,34 @@ import (
 // anybody stands for all people, where turns are asked for.
 const anybody = -1
 
+// Decider tells what the law that is in force on a case's day, as known on its other one, says of it; false: there is no law.
+type Decider func(c decide.Case) (answer decide.Answer, there bool, err error)
+
+// deciderBy a book and a file, of cases that are known on one day.
+func deciderBy(b *force.Book, f *facts.File, known int) Decider {
+	laws := b.View(known)
+	return func(c decide.Case) (decide.Answer, bool, error) {
+		law, _, there := laws.At(c.On)
+		if !there {
+			return decide.Answer{}, false, nil
+		}
+		answer, err := decide.Decide(law, f, c)
+		return answer, true, err
+	}
+}
+
 // asked is an amount of somebody that is asked for on many days.
 type asked struct {
-	laws  *force.View
-	file  *facts.File
-	who   int
-	name  string
-	known int
+	decides Decider
+	who     int
+	name    string
+	known   int
 }
 
 // on a day: 0, if there is no law yet, or none that has such an amount.
 func (a asked) on(day int) (int, error) {
-	law, _, there := a.laws.At(day)
-	if !there {
-		return 0, nil
-	}
-	answer, err := decide.Decide(law, a.file, decide.Case{Who: a.who, On: day, Known: a.known})
-	if err != nil {
+	answer, there, err := a.decides(decide.Case{Who: a.who, On: day, Known: a.known})
+	if err != nil || !there {
 		return 0, err
 	}
 	i := slices.IndexFunc(answer.Amounts, func(x decide.Amount) bool { return x.Name == a.name })

@@ -396,6 +396,44 @@ func TestP112DueIsMonthsOfDaily(t *testing.T) {
 	}
 }
 
+func TestP112DueByAFunction(t *testing.T) {
+	b := bookOf(t, house, 100, act(t, "A", 50, 105, 0, "repeal 9\n"))
+	f := fileOf(t, is(1, "here", 1, 103, 107))
+	var asked []decide.Case
+	decides := func(c decide.Case) (decide.Answer, bool, error) {
+		asked = append(asked, c)
+		switch {
+		case c.On < 100:
+			return decide.Answer{}, false, nil
+		case c.On == 107:
+			return decide.Answer{}, true, api.ErrProof
+		}
+		return decide.Answer{Amounts: []decide.Amount{{Name: "a", Cents: 1}, {Name: "b", Cents: 31 * c.On}}}, true, nil
+	}
+	for _, c := range []struct {
+		name  string
+		to    int
+		want  string
+		asked []int
+	}{
+		{"b", 106, "[{98 106 631}]", []int{98, 100, 103, 105}}, {"a", 106, "[{98 106 0}]", []int{98, 100, 103, 105}}, {"c", 101, "[{98 101 0}]", []int{98, 100}},
+		{"b", 98, "[]", nil}, {"b", 110, "[] statute: explanation", []int{98, 100, 103, 105, 107}}, {"b", 97, "[] statute: day", nil},
+	} {
+		asked = nil
+		pays, err := DueBy(decides, b, f, 7, c.name, 98, c.to, 60, api.HalfUp)
+		got := fmt.Sprint(pays)
+		if err != nil {
+			got += " " + err.Error()
+		}
+		if got != c.want {
+			t.Errorf("%s up to %d: %s; want %s", c.name, c.to, got, c.want)
+		}
+		if !slices.EqualFunc(asked, c.asked, func(x decide.Case, on int) bool { return x == decide.Case{Who: 7, On: on, Known: 60} }) {
+			t.Errorf("%s up to %d: asked %v", c.name, c.to, asked)
+		}
+	}
+}
+
 func TestP2P4DailyReadsAndAnswersAnew(t *testing.T) {
 	b := bookOf(t, house, 100, act(t, "A", 50, 105, 0, "line 0 of law: amount basic: 620\n"))
 	f := fileOf(t, is(0, "here", 1, 102, 0))
