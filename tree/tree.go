@@ -34,8 +34,11 @@ func (s Shape[T]) renew(t *T, most int) {
 		for i := range *kids {
 			kid := &(*kids)[i]
 			s.Own(kid)
-			if len(*s.Kids(kid)) > 0 {
+			if inner := s.Kids(kid); len(*inner) > 0 {
 				open = append(open, kid)
+			} else {
+				// Behind an empty list, too, there may be room, and in it what is somebody else's.
+				*inner = slices.Clone(*inner)
 			}
 		}
 	}

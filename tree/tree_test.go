@@ -110,6 +110,44 @@ func TestP4CopiesAreNewMemory(t *testing.T) {
 	}
 }
 
+// roomy is a tree in which lists are empty, but have room behind them, in which something stands.
+func roomy() (b bush, rooms [][]bush) {
+	room := func() []bush {
+		rooms = append(rooms, []bush{{name: "room"}})
+		return rooms[len(rooms)-1][:0]
+	}
+	return bush{kids: []bush{{kids: room()}, {kids: []bush{{name: "twig", kids: room()}, {}}}, {kids: room()}}}, rooms
+}
+
+// growAll puts a kid more into each list of a tree.
+func growAll(b *bush) {
+	for i := range b.kids {
+		growAll(&b.kids[i])
+	}
+	b.kids = append(b.kids, bush{name: "blot"})
+}
+
+func TestP4TheRoomBehindEmptyListsIsNotShared(t *testing.T) {
+	alone, rooms := roomy()
+	endless, others := roomy()
+	endless.kids[1].kids[1].kids = endless.kids
+	bare := bush{kids: rooms[0][:0]}
+	copies := []bush{shape().Copy(alone), shape().Copy(endless), shape().Copy(bare)}
+	all, _ := copiesOf(alone, endless, bare, alone.kids[1], alone.kids[0])
+	copies = append(copies, all...)
+	if want, _ := roomy(); !reflect.DeepEqual(copies[0], want) {
+		t.Errorf("%v; want %v", copies[0], want)
+	}
+	for i := range copies {
+		growAll(&copies[i])
+		for k, room := range slices.Concat(rooms, others) {
+			if room[0].name != "room" {
+				t.Fatalf("copy %d: what is put into it shows in room %d", i, k)
+			}
+		}
+	}
+}
+
 func TestWeights(t *testing.T) {
 	for want, b := range map[int]bush{
 		1:         {},
